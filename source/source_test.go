@@ -7,6 +7,7 @@ import (
 
 	"thunkmill/api"
 	"thunkmill/source"
+	"thunkmill/testkit"
 )
 
 const maxInt = int(^uint(0) >> 1)
@@ -37,24 +38,7 @@ func texts() []string {
 		strings.Repeat("\n", 100),
 		strings.Repeat("x\t", 100),
 	}
-	return append(all, words("a \t\n", 5)...)
-}
-
-// words are all texts of at most n bytes of an alphabet.
-func words(alphabet string, n int) []string {
-	last := []string{""}
-	all := []string{""}
-	for range n {
-		var next []string
-		for _, w := range last {
-			for i := range len(alphabet) {
-				next = append(next, w+alphabet[i:i+1])
-			}
-		}
-		all = append(all, next...)
-		last = next
-	}
-	return all
+	return append(all, testkit.Words("a \t\n", 5)...)
 }
 
 // toldWhere reckons the line and column of a place as the chapter's words say, byte by byte.
