@@ -1,11 +1,13 @@
 package syntax
 
 import (
+	"math"
+
 	"thunkmill/api"
 	"thunkmill/lex"
 )
 
-// The greatest numbers that kinds of nodes may have.
+// The greatest level of an operator, and the greatest character.
 const (
 	maxLevel = 9
 	maxChar  = 255
@@ -87,18 +89,22 @@ func (c checker) nameFits(n *api.Node) bool {
 	return n.Name == ""
 }
 
-func numFits(n *api.Node) bool {
-	switch n.Kind {
+// numFits asks the same least number of all kinds: no lexeme has one below 0, so no text could tell such a node.
+func numFits(n *api.Node) bool { return 0 <= n.Num && n.Num <= greatestNum(n.Kind) }
+
+// greatestNum is 0 of the kinds that have no number.
+func greatestNum(kind int) int64 {
+	switch kind {
 	case api.NdInt, api.NdPInt:
-		return true
+		return math.MaxInt64
 	case api.NdChar, api.NdPChar:
-		return 0 <= n.Num && n.Num <= maxChar
+		return maxChar
 	case api.NdConDef:
-		return 0 <= n.Num && n.Num <= api.MaxParams
+		return api.MaxParams
 	case api.NdFixity:
-		return 0 <= n.Num && n.Num <= maxLevel
+		return maxLevel
 	}
-	return n.Num == 0
+	return 0
 }
 
 // isSide tells whether a word says at which side operators hold.

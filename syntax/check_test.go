@@ -268,11 +268,11 @@ func TestCheckNumbers(t *testing.T) {
 		{fixity("infixl", 0, op("+")), 0, 9},
 		{counted(api.NdChar, 0), 0, 255},
 		{counted(api.NdPChar, 0), 0, 255},
-		{num(0), math.MinInt64, math.MaxInt64},
-		{counted(api.NdPInt, 0), math.MinInt64, math.MaxInt64},
+		{num(0), 0, math.MaxInt64},
+		{counted(api.NdPInt, 0), 0, math.MaxInt64},
 	}
 	for _, r := range rows {
-		for _, n := range []int64{math.MinInt64, -1, 0, 1, 8, 9, 10, 11, 31, 32, 33, 34, 254, 255, 256, 257, 1 << 32, math.MaxInt64} {
+		for _, n := range []int64{math.MinInt64, -1 << 32, -256, -2, -1, 0, 1, 8, 9, 10, 11, 31, 32, 33, 34, 254, 255, 256, 257, 1 << 32, math.MaxInt64 - 1, math.MaxInt64} {
 			want := api.ErrArg
 			if r.from <= n && n <= r.to {
 				want = api.OK

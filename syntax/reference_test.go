@@ -1,6 +1,7 @@
 package syntax_test
 
 import (
+	"math"
 	"math/rand"
 	"regexp"
 	"slices"
@@ -57,7 +58,7 @@ func newReference() reference {
 			r.names[k] = regexp.MustCompile("^(?:" + s + `)$`)
 		}
 	}
-	r.nums = map[int]int64{api.NdConDef: 32, api.NdFixity: 9, api.NdChar: 255, api.NdPChar: 255}
+	r.nums = map[int]int64{api.NdConDef: 32, api.NdFixity: 9, api.NdChar: 255, api.NdPChar: 255, api.NdInt: math.MaxInt64, api.NdPInt: math.MaxInt64}
 	return r
 }
 
@@ -81,8 +82,6 @@ func (r reference) mayBe(n api.Node) bool {
 		return false
 	case n.Kind == api.NdPCon && n.Name[0] == ':' && len(n.Kids) != 2:
 		return false
-	case n.Kind == api.NdInt || n.Kind == api.NdPInt:
-		return true
 	}
 	return 0 <= n.Num && n.Num <= r.nums[n.Kind]
 }
@@ -172,7 +171,7 @@ func (r reference) fill(w string, n api.Node) string {
 	case "O":
 		return r.operator(n.Name)
 	case "#":
-		return strconv.FormatInt(max(n.Num, 0), 10)
+		return strconv.FormatInt(n.Num, 10)
 	case "'":
 		return lex.Text(api.Token{Kind: api.TokChar, Num: n.Num})
 	case "\"":
@@ -356,7 +355,7 @@ func (m maker) spoilOne(n *api.Node) {
 	case 1:
 		n.Name = m.pick("", "x", "C", "+", ":", "let", "=", "_", "--", "x y", "infixl", "(", "..", "infix")
 	case 2:
-		n.Num = []int64{-1, 0, 1, 9, 10, 32, 33, 255, 256}[m.Intn(9)]
+		n.Num = []int64{math.MinInt64, -1, 0, 1, 9, 10, 32, 33, 255, 256}[m.Intn(10)]
 	case 3:
 		if i > 0 {
 			i = m.Intn(i)
@@ -425,7 +424,7 @@ func TestAsTheReference(t *testing.T) {
 	}
 }
 
-// checkRead holds lexemes to what lex reads from their text, unless that is too long; numbers below 0 are never read.
+// checkRead holds lexemes to what lex reads from their text, unless that is too long.
 func checkRead(t *testing.T, text string, l []api.Token) {
 	t.Helper()
 	read, f := lex.All(text)
@@ -434,8 +433,7 @@ func checkRead(t *testing.T, text string, l []api.Token) {
 	}
 	same := f == (api.Fault{}) && len(read) == len(l)
 	for i := 0; same && i < len(l); i++ {
-		want := api.Token{Kind: read[i].Kind, Text: read[i].Text, Num: read[i].Num}
-		same = l[i] == want || l[i].Kind == api.TokInt && l[i].Num < 0
+		same = l[i] == api.Token{Kind: read[i].Kind, Text: read[i].Text, Num: read[i].Num}
 	}
 	if !same {
 		t.Fatalf("%q: lexemes %v, read %v, %v", text, l, read, f)

@@ -3,6 +3,7 @@ package syntax_test
 import (
 	"math"
 	"slices"
+	"strconv"
 	"strings"
 	"testing"
 
@@ -240,7 +241,20 @@ func TestNoParenthesesWhereNoAtomIsAskedFor(t *testing.T) {
 	}, patterns(), always)
 }
 
-// With an error there is nothing else.
+// checkRefused holds a node to an error, with which there is nothing else.
+func checkRefused(t *testing.T, which int, n api.Node, want api.Errno) {
+	t.Helper()
+	if e := syntax.Check(n); e != want {
+		t.Errorf("node %d: Check = %v, want %v", which, e, want)
+	}
+	if l, e := syntax.Lexemes(n); len(l) != 0 || e != want {
+		t.Errorf("node %d: Lexemes = %v, %v, want %v", which, l, e, want)
+	}
+	if s, e := syntax.Text(n); s != "" || e != want {
+		t.Errorf("node %d: Text = %q, %v, want %v", which, s, e, want)
+	}
+}
+
 func TestTextOfNodesThatMayNotBe(t *testing.T) {
 	wrong := []api.Node{{}, of(45), v("let"), app(v("f")), paren(), paren(v("x"), v("y")), of(api.NdDo), rhs(), of(api.NdRhs, where()), pcon(":"), counted(api.NdChar, 256), of(api.NdProgram, bind("x", v("="))), named(api.NdVar, "x", v("y"))}
 	long := []api.Node{nested(api.MaxDeep + 1), wide(api.MaxNodes + 1), endless(0), endless(api.NdParen), shared(200), of(0, nested(api.MaxDeep))}
@@ -249,12 +263,7 @@ func TestTextOfNodesThatMayNotBe(t *testing.T) {
 		if i >= len(wrong) {
 			want = api.ErrLong
 		}
-		if l, e := syntax.Lexemes(n); len(l) != 0 || e != want {
-			t.Errorf("node %d: Lexemes = %v, %v", i, l, e)
-		}
-		if s, e := syntax.Text(n); s != "" || e != want {
-			t.Errorf("node %d: Text = %q, %v", i, s, e)
-		}
+		checkRefused(t, i, n, want)
 	}
 }
 
@@ -276,15 +285,29 @@ func TestTextOfDeepAndWideNodes(t *testing.T) {
 	}
 }
 
-// A number below 0 is no lexeme's, but a node's: it is told as lex tells it.
+// A number below 0 is no lexeme's: a node that has one, wherever it stands, has neither lexemes nor a text.
 func TestTextOfNumbersBelowZero(t *testing.T) {
-	for _, k := range []int{api.NdInt, api.NdPInt} {
-		l, e := syntax.Lexemes(counted(k, -5))
-		if !slices.Equal(l, []api.Token{{Kind: api.TokInt, Num: -5}}) || e != api.OK {
-			t.Errorf("Lexemes = %v, %v", l, e)
+	x, p := v("x"), pv("p")
+	for _, k := range []int64{-1, -5, math.MinInt64} {
+		e, q := num(k), counted(api.NdPInt, k)
+		for i, n := range []api.Node{
+			e, q, app(x, e), ops(x, op("-"), e), of(api.NdNeg, e), paren(e), rhs(e), rhs(guard(e, x)), bind("x", e),
+			of(api.NdLam, q, x), of(api.NdPList, p, q), of(api.NdPOps, q, op(":"), p), alt(q, x), gen(q, x),
+			of(api.NdProgram, named(api.NdEqn, "f", q, rhs(e))),
+		} {
+			checkRefused(t, i, n, api.ErrArg)
 		}
-		if s, e := syntax.Text(counted(k, -5)); s != "0" || e != api.OK {
-			t.Errorf("Text = %q, %v", s, e)
-		}
+	}
+}
+
+// The numbers at the edges are told as lex reads them.
+func TestTextOfNumbersAtTheEdges(t *testing.T) {
+	for _, k := range []int64{0, 1, math.MaxInt64 - 1, math.MaxInt64} {
+		want := strconv.FormatInt(k, 10)
+		e, q := num(k), counted(api.NdPInt, k)
+		checkText(t, e, want)
+		checkText(t, q, want)
+		checkText(t, of(api.NdNeg, e), "- "+want)
+		checkText(t, of(api.NdProgram, named(api.NdEqn, "f", q, rhs(e))), "{ f "+want+" = "+want+" ; }")
 	}
 }
