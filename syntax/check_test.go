@@ -8,6 +8,7 @@ import (
 
 	"thunkmill/api"
 	"thunkmill/syntax"
+	"thunkmill/testkit"
 )
 
 func checkErr(t *testing.T, what string, n api.Node, want api.Errno) {
@@ -53,8 +54,8 @@ func TestCheckKindsThatAreNone(t *testing.T) {
 func TestCheckPlaces(t *testing.T) {
 	for _, at := range []int{math.MinInt, -1, 1, math.MaxInt} {
 		for _, s := range samples() {
-			n := copied(s.node)
-			each(&n, func(n *api.Node) { n.At = at })
+			n := testkit.Copied(s.node)
+			testkit.Each(&n, func(n *api.Node) { n.At = at })
 			checkErr(t, s.text, n, api.OK)
 		}
 	}
@@ -85,13 +86,13 @@ func TestCheckFieldsThatAKindHasNot(t *testing.T) {
 // within is a node in which an expression, or another one, is a kid.
 func within(n api.Node) api.Node {
 	switch {
-	case slices.Contains(expressions(), n.Kind):
+	case slices.Contains(testkit.Expressions(), n.Kind):
 		return of(api.NdList, num(1), n)
-	case slices.Contains(patterns(), n.Kind):
+	case slices.Contains(testkit.Patterns(), n.Kind):
 		return of(api.NdPList, of(api.NdPAny), n)
-	case slices.Contains(declarations(), n.Kind):
+	case slices.Contains(testkit.Declarations(), n.Kind):
 		return of(api.NdProgram, bind("x", num(1)), n)
-	case slices.Contains(statements(), n.Kind):
+	case slices.Contains(testkit.Statements(), n.Kind):
 		return of(api.NdComp, num(1), n)
 	case n.Kind == api.NdRhs:
 		return of(api.NdBind, pv("x"), n)
@@ -189,60 +190,60 @@ func TestCheckWhichKids(t *testing.T) {
 		kinds []int
 		hole  func(n api.Node) api.Node
 	}{
-		{"a program's", declarations(), func(n api.Node) api.Node { return of(api.NdProgram, n) }},
-		{"a block's", declarations(), func(n api.Node) api.Node { return where(n) }},
+		{"a program's", testkit.Declarations(), func(n api.Node) api.Node { return of(api.NdProgram, n) }},
+		{"a block's", testkit.Declarations(), func(n api.Node) api.Node { return where(n) }},
 		{"a type's", only(api.NdConDef), func(n api.Node) api.Node { return named(api.NdData, "T", n) }},
 		{"a fixity's", only(api.NdOp), func(n api.Node) api.Node { return fixity("infix", 0, n) }},
-		{"an equation's first", patterns(), func(n api.Node) api.Node { return named(api.NdEqn, "f", n, rhs(e)) }},
+		{"an equation's first", testkit.Patterns(), func(n api.Node) api.Node { return named(api.NdEqn, "f", n, rhs(e)) }},
 		{"an equation's last", only(api.NdRhs), func(n api.Node) api.Node { return named(api.NdEqn, "f", p, n) }},
-		{"a binding's first", patterns(), func(n api.Node) api.Node { return of(api.NdBind, n, rhs(e)) }},
+		{"a binding's first", testkit.Patterns(), func(n api.Node) api.Node { return of(api.NdBind, n, rhs(e)) }},
 		{"a binding's last", only(api.NdRhs), func(n api.Node) api.Node { return of(api.NdBind, p, n) }},
-		{"a right side's", append(expressions(), api.NdGuard), func(n api.Node) api.Node { return rhs(n) }},
-		{"a right side's with a block", append(expressions(), api.NdGuard), func(n api.Node) api.Node { return rhs(n, where()) }},
+		{"a right side's", append(testkit.Expressions(), api.NdGuard), func(n api.Node) api.Node { return rhs(n) }},
+		{"a right side's with a block", append(testkit.Expressions(), api.NdGuard), func(n api.Node) api.Node { return rhs(n, where()) }},
 		{"behind a right side's expression", only(api.NdWhere), func(n api.Node) api.Node { return rhs(e, n) }},
 		{"behind a right side's guard", []int{api.NdGuard, api.NdWhere}, func(n api.Node) api.Node { return rhs(guard(e, e), n) }},
-		{"a guard's first", expressions(), func(n api.Node) api.Node { return guard(n, e) }},
-		{"a guard's last", expressions(), func(n api.Node) api.Node { return guard(e, n) }},
-		{"an application's first", expressions(), func(n api.Node) api.Node { return app(n, e) }},
-		{"an application's last", expressions(), func(n api.Node) api.Node { return app(e, e, n) }},
-		{"the left operand", expressions(), func(n api.Node) api.Node { return ops(n, op("+"), e) }},
+		{"a guard's first", testkit.Expressions(), func(n api.Node) api.Node { return guard(n, e) }},
+		{"a guard's last", testkit.Expressions(), func(n api.Node) api.Node { return guard(e, n) }},
+		{"an application's first", testkit.Expressions(), func(n api.Node) api.Node { return app(n, e) }},
+		{"an application's last", testkit.Expressions(), func(n api.Node) api.Node { return app(e, e, n) }},
+		{"the left operand", testkit.Expressions(), func(n api.Node) api.Node { return ops(n, op("+"), e) }},
 		{"the operator", only(api.NdOp), func(n api.Node) api.Node { return ops(e, n, e) }},
 		{"the second operator", only(api.NdOp), func(n api.Node) api.Node { return ops(e, op("+"), e, n, e) }},
-		{"the right operand", expressions(), func(n api.Node) api.Node { return ops(e, op("+"), n) }},
-		{"what is negated", expressions(), func(n api.Node) api.Node { return of(api.NdNeg, n) }},
-		{"a lambda's first", patterns(), func(n api.Node) api.Node { return of(api.NdLam, n, e) }},
-		{"a lambda's last", expressions(), func(n api.Node) api.Node { return of(api.NdLam, p, n) }},
+		{"the right operand", testkit.Expressions(), func(n api.Node) api.Node { return ops(e, op("+"), n) }},
+		{"what is negated", testkit.Expressions(), func(n api.Node) api.Node { return of(api.NdNeg, n) }},
+		{"a lambda's first", testkit.Patterns(), func(n api.Node) api.Node { return of(api.NdLam, n, e) }},
+		{"a lambda's last", testkit.Expressions(), func(n api.Node) api.Node { return of(api.NdLam, p, n) }},
 		{"a let's first", only(api.NdWhere), func(n api.Node) api.Node { return of(api.NdLet, n, e) }},
-		{"a let's last", expressions(), func(n api.Node) api.Node { return of(api.NdLet, where(), n) }},
-		{"an if's first", expressions(), func(n api.Node) api.Node { return of(api.NdIf, n, e, e) }},
-		{"an if's second", expressions(), func(n api.Node) api.Node { return of(api.NdIf, e, n, e) }},
-		{"an if's last", expressions(), func(n api.Node) api.Node { return of(api.NdIf, e, e, n) }},
-		{"a case's first", expressions(), func(n api.Node) api.Node { return of(api.NdCase, n, alt(p, e)) }},
+		{"a let's last", testkit.Expressions(), func(n api.Node) api.Node { return of(api.NdLet, where(), n) }},
+		{"an if's first", testkit.Expressions(), func(n api.Node) api.Node { return of(api.NdIf, n, e, e) }},
+		{"an if's second", testkit.Expressions(), func(n api.Node) api.Node { return of(api.NdIf, e, n, e) }},
+		{"an if's last", testkit.Expressions(), func(n api.Node) api.Node { return of(api.NdIf, e, e, n) }},
+		{"a case's first", testkit.Expressions(), func(n api.Node) api.Node { return of(api.NdCase, n, alt(p, e)) }},
 		{"a case's last", only(api.NdAlt), func(n api.Node) api.Node { return of(api.NdCase, e, n) }},
-		{"an alternative's first", patterns(), func(n api.Node) api.Node { return of(api.NdAlt, n, rhs(e)) }},
+		{"an alternative's first", testkit.Patterns(), func(n api.Node) api.Node { return of(api.NdAlt, n, rhs(e)) }},
 		{"an alternative's last", only(api.NdRhs), func(n api.Node) api.Node { return of(api.NdAlt, p, n) }},
-		{"a do's first", statements(), func(n api.Node) api.Node { return of(api.NdDo, n, stmt(e)) }},
+		{"a do's first", testkit.Statements(), func(n api.Node) api.Node { return of(api.NdDo, n, stmt(e)) }},
 		{"a do's last", only(api.NdStmt), func(n api.Node) api.Node { return of(api.NdDo, stmt(e), n) }},
 		{"a do's only", only(api.NdStmt), func(n api.Node) api.Node { return of(api.NdDo, n) }},
-		{"a tuple's", expressions(), func(n api.Node) api.Node { return of(api.NdTuple, e, n) }},
-		{"a list's", expressions(), func(n api.Node) api.Node { return of(api.NdList, n) }},
-		{"a comprehension's first", expressions(), func(n api.Node) api.Node { return of(api.NdComp, n, stmt(e)) }},
-		{"a comprehension's last", statements(), func(n api.Node) api.Node { return of(api.NdComp, e, n) }},
-		{"a left section's", expressions(), func(n api.Node) api.Node { return named(api.NdLeft, "+", n) }},
-		{"a right section's", expressions(), func(n api.Node) api.Node { return named(api.NdRight, "+", n) }},
-		{"in parentheses", expressions(), func(n api.Node) api.Node { return paren(n) }},
-		{"a generator's first", patterns(), func(n api.Node) api.Node { return gen(n, e) }},
-		{"a generator's last", expressions(), func(n api.Node) api.Node { return gen(p, n) }},
+		{"a tuple's", testkit.Expressions(), func(n api.Node) api.Node { return of(api.NdTuple, e, n) }},
+		{"a list's", testkit.Expressions(), func(n api.Node) api.Node { return of(api.NdList, n) }},
+		{"a comprehension's first", testkit.Expressions(), func(n api.Node) api.Node { return of(api.NdComp, n, stmt(e)) }},
+		{"a comprehension's last", testkit.Statements(), func(n api.Node) api.Node { return of(api.NdComp, e, n) }},
+		{"a left section's", testkit.Expressions(), func(n api.Node) api.Node { return named(api.NdLeft, "+", n) }},
+		{"a right section's", testkit.Expressions(), func(n api.Node) api.Node { return named(api.NdRight, "+", n) }},
+		{"in parentheses", testkit.Expressions(), func(n api.Node) api.Node { return paren(n) }},
+		{"a generator's first", testkit.Patterns(), func(n api.Node) api.Node { return gen(n, e) }},
+		{"a generator's last", testkit.Expressions(), func(n api.Node) api.Node { return gen(p, n) }},
 		{"a statement let's", only(api.NdWhere), func(n api.Node) api.Node { return of(api.NdLets, n) }},
-		{"a statement's", expressions(), func(n api.Node) api.Node { return stmt(n) }},
-		{"a constructor's pattern's", patterns(), func(n api.Node) api.Node { return pcon("C", n) }},
-		{"a tuple's pattern's", patterns(), func(n api.Node) api.Node { return of(api.NdPTuple, p, n) }},
-		{"a list's pattern's", patterns(), func(n api.Node) api.Node { return of(api.NdPList, n) }},
-		{"behind @", patterns(), func(n api.Node) api.Node { return named(api.NdPAs, "x", n) }},
-		{"behind ~", patterns(), func(n api.Node) api.Node { return of(api.NdPLazy, n) }},
-		{"a pattern's left operand", patterns(), func(n api.Node) api.Node { return of(api.NdPOps, n, op(":"), p) }},
+		{"a statement's", testkit.Expressions(), func(n api.Node) api.Node { return stmt(n) }},
+		{"a constructor's pattern's", testkit.Patterns(), func(n api.Node) api.Node { return pcon("C", n) }},
+		{"a tuple's pattern's", testkit.Patterns(), func(n api.Node) api.Node { return of(api.NdPTuple, p, n) }},
+		{"a list's pattern's", testkit.Patterns(), func(n api.Node) api.Node { return of(api.NdPList, n) }},
+		{"behind @", testkit.Patterns(), func(n api.Node) api.Node { return named(api.NdPAs, "x", n) }},
+		{"behind ~", testkit.Patterns(), func(n api.Node) api.Node { return of(api.NdPLazy, n) }},
+		{"a pattern's left operand", testkit.Patterns(), func(n api.Node) api.Node { return of(api.NdPOps, n, op(":"), p) }},
 		{"a pattern's operator", only(api.NdOp), func(n api.Node) api.Node { return of(api.NdPOps, p, n, p) }},
-		{"a pattern's right operand", patterns(), func(n api.Node) api.Node { return of(api.NdPOps, p, op(":"), n) }},
+		{"a pattern's right operand", testkit.Patterns(), func(n api.Node) api.Node { return of(api.NdPOps, p, op(":"), n) }},
 	}
 	for _, r := range rows {
 		for k := 1; k <= api.NdPOps; k++ {
@@ -428,7 +429,7 @@ func TestCheckOrderOfErrors(t *testing.T) {
 	many.Kids[len(many.Kids)-1].Kind = 45
 	checkErr(t, "2^20 nodes, the last one of no kind", many, api.ErrArg)
 	innermost := nested(api.MaxDeep)
-	each(&innermost, func(n *api.Node) {
+	testkit.Each(&innermost, func(n *api.Node) {
 		if n.Kind == api.NdVar {
 			n.Name = "let"
 		}

@@ -1,10 +1,6 @@
 package syntax_test
 
-import (
-	"slices"
-
-	"thunkmill/api"
-)
+import "thunkmill/api"
 
 // The makers of nodes that the tables of these tests are written with.
 
@@ -117,26 +113,6 @@ func samples() []sample {
 // ofKind is the ordinary node of a kind.
 func ofKind(kind int) api.Node { return samples()[kind-1].node }
 
-// The kinds that the chapter has one word for.
-
-func declarations() []int { return []int{api.NdData, api.NdFixity, api.NdEqn, api.NdBind} }
-
-func expressions() []int {
-	return append(span(api.NdVar, api.NdCase), span(api.NdDo, api.NdParen)...)
-}
-
-func statements() []int { return []int{api.NdGen, api.NdLets, api.NdStmt} }
-
-func patterns() []int { return span(api.NdPVar, api.NdPOps) }
-
-func span(from, to int) []int {
-	var l []int
-	for k := from; k <= to; k++ {
-		l = append(l, k)
-	}
-	return l
-}
-
 // repeated is a list of n nodes that are the same.
 func repeated(n api.Node, times int) []api.Node {
 	l := make([]api.Node, times)
@@ -172,21 +148,4 @@ func shared(steps int) api.Node {
 		n = app(n, n)
 	}
 	return n
-}
-
-// copied is a node in memory of its own, all of it.
-func copied(n api.Node) api.Node {
-	n.Kids = slices.Clone(n.Kids)
-	for i := range n.Kids {
-		n.Kids[i] = copied(n.Kids[i])
-	}
-	return n
-}
-
-// each calls f with each node of a tree, a node ahead of its kids.
-func each(n *api.Node, f func(n *api.Node)) {
-	f(n)
-	for i := range n.Kids {
-		each(&n.Kids[i], f)
-	}
 }

@@ -12,6 +12,7 @@ import (
 	"thunkmill/api"
 	"thunkmill/lex"
 	"thunkmill/syntax"
+	"thunkmill/testkit"
 )
 
 // reference tells which nodes may be, and their texts, by another road than the program: kids as words of one letter a kind, held to regular expressions, and texts as strings put together by Go's own means.
@@ -32,7 +33,7 @@ func lettersOf(kinds []int) string {
 }
 
 func newReference() reference {
-	D, E, S, P := lettersOf(declarations()), lettersOf(expressions()), lettersOf(statements()), lettersOf(patterns())
+	D, E, S, P := lettersOf(testkit.Declarations()), lettersOf(testkit.Expressions()), lettersOf(testkit.Statements()), lettersOf(testkit.Patterns())
 	k := func(kind int) string { return letters[kind-1 : kind] }
 	kids := []string{
 		D + "*", k(api.NdConDef) + "+", "", k(api.NdOp) + "+", "", P + "+" + k(api.NdRhs), P + k(api.NdRhs), "(" + k(api.NdGuard) + "+|" + E + ")" + k(api.NdWhere) + "?", E + E, D + "*",
@@ -196,151 +197,24 @@ func (r reference) fill(w string, n api.Node) string {
 	return w
 }
 
-// maker makes trees by chance, the same ones each time.
+// maker makes trees by chance, the same ones each time, and spoils them.
 type maker struct {
 	*rand.Rand
+	testkit.Trees
 }
 
-func (m maker) pick(l ...string) string { return l[m.Intn(len(l))] }
-
-func (m maker) oneOf(kinds []int, deep int) api.Node { return m.tree(kinds[m.Intn(len(kinds))], deep) }
-
-func (m maker) several(kinds []int, least, deep int) []api.Node {
-	l := make([]api.Node, least+m.Intn(3))
-	for i := range l {
-		l[i] = m.oneOf(kinds, deep)
-	}
-	return l
-}
-
-func (m maker) turns(kinds []int, deep int) []api.Node {
-	l := []api.Node{m.oneOf(kinds, deep)}
-	for range 1 + m.Intn(2) {
-		l = append(l, m.tree(api.NdOp, 0), m.oneOf(kinds, deep))
-	}
-	return l
-}
-
-func (m maker) names(n *api.Node) {
-	name, con := m.pick("x", "f", "_y'", "aB1"), m.pick("C", "Tup2", "X'")
-	oper, conOper := m.pick("+", "-", ".", "-->", "~~"), m.pick(":", ":+", "::")
-	switch n.Kind {
-	case api.NdData, api.NdConDef:
-		n.Name = con
-	case api.NdFixity:
-		n.Name = m.pick("infixl", "infixr", "infix")
-	case api.NdOp, api.NdLeft, api.NdRight:
-		n.Name = m.pick(name, con, oper, conOper)
-	case api.NdEqn, api.NdVar:
-		n.Name = m.pick(name, name, oper)
-	case api.NdCon:
-		n.Name = m.pick(con, conOper)
-	case api.NdPCon:
-		n.Name = con
-		if len(n.Kids) == 2 {
-			n.Name = m.pick(con, conOper)
-		}
-	case api.NdString, api.NdPString:
-		n.Name = m.pick("", "ab", "1\n2", "\"\\", "\x00\xff", "let x")
-	case api.NdPVar, api.NdPAs:
-		n.Name = name
-	}
-}
-
-func (m maker) tree(kind, deep int) api.Node {
-	n := api.Node{Kind: kind, At: m.Intn(100)}
-	switch kind {
-	case api.NdConDef, api.NdFixity:
-		n.Num = int64(m.Intn(10))
-	case api.NdInt, api.NdPInt:
-		n.Num = m.Int63()
-	case api.NdChar, api.NdPChar:
-		n.Num = int64(m.Intn(256))
-	}
-	n.Kids = m.kids(kind, deep-1)
-	m.names(&n)
-	return n
-}
-
-// kids makes a list of kids that a kind may have; where it is deep enough small ones.
-func (m maker) kids(kind, deep int) []api.Node {
-	D, E, S, P := declarations(), expressions(), statements(), patterns()
-	if deep <= 0 {
-		D, E, P = []int{api.NdBind}, []int{api.NdVar, api.NdInt, api.NdString}, []int{api.NdPVar, api.NdPAny}
-		S = []int{api.NdStmt}
-	}
-	one := func(kinds []int) api.Node { return m.oneOf(kinds, deep) }
-	of := func(kind int) api.Node { return m.tree(kind, deep) }
-	switch kind {
-	case api.NdProgram, api.NdWhere:
-		if deep <= 0 {
-			return nil // else blocks would be in blocks without end
-		}
-		return m.several(D, 0, deep)
-	case api.NdData:
-		return m.several([]int{api.NdConDef}, 1, deep)
-	case api.NdFixity:
-		return m.several([]int{api.NdOp}, 1, deep)
-	case api.NdEqn:
-		return append(m.several(P, 1, deep), of(api.NdRhs))
-	case api.NdBind, api.NdAlt:
-		return []api.Node{one(P), of(api.NdRhs)}
-	case api.NdRhs:
-		l := []api.Node{one(E)}
-		if m.Intn(2) == 0 {
-			l = m.several([]int{api.NdGuard}, 1, deep)
-		}
-		if m.Intn(3) == 0 {
-			l = append(l, of(api.NdWhere))
-		}
-		return l
-	case api.NdGuard:
-		return []api.Node{one(E), one(E)}
-	case api.NdApp:
-		return m.several(E, 2, deep)
-	case api.NdOps:
-		return m.turns(E, deep)
-	case api.NdNeg, api.NdLeft, api.NdRight, api.NdParen, api.NdStmt:
-		return []api.Node{one(E)}
-	case api.NdLam:
-		return append(m.several(P, 1, deep), one(E))
-	case api.NdLet:
-		return []api.Node{of(api.NdWhere), one(E)}
-	case api.NdIf:
-		return []api.Node{one(E), one(E), one(E)}
-	case api.NdCase:
-		return append([]api.Node{one(E)}, m.several([]int{api.NdAlt}, 1, deep)...)
-	case api.NdDo:
-		return append(m.several(S, 0, deep), of(api.NdStmt))
-	case api.NdTuple:
-		return m.several(E, 2, deep)
-	case api.NdList:
-		return m.several(E, 0, deep)
-	case api.NdComp:
-		return append([]api.Node{one(E)}, m.several(S, 1, deep)...)
-	case api.NdGen:
-		return []api.Node{one(P), one(E)}
-	case api.NdLets:
-		return []api.Node{of(api.NdWhere)}
-	case api.NdPCon, api.NdPList:
-		return m.several(P, 0, deep)
-	case api.NdPTuple:
-		return m.several(P, 2, deep)
-	case api.NdPAs, api.NdPLazy:
-		return []api.Node{one(P)}
-	case api.NdPOps:
-		return m.turns(P, deep)
-	}
-	return nil
+func newMaker(seed int64) maker {
+	r := rand.New(rand.NewSource(seed))
+	return maker{r, testkit.Trees{Chance: r}}
 }
 
 // spoil changes something of one node of a tree.
 func (m maker) spoil(n *api.Node) {
 	count := 0
-	each(n, func(*api.Node) { count++ })
+	testkit.Each(n, func(*api.Node) { count++ })
 	which := m.Intn(count)
 	at := 0
-	each(n, func(n *api.Node) {
+	testkit.Each(n, func(n *api.Node) {
 		if at == which {
 			m.spoilOne(n)
 		}
@@ -353,7 +227,7 @@ func (m maker) spoilOne(n *api.Node) {
 	case 0:
 		n.Kind = m.Intn(48) - 1
 	case 1:
-		n.Name = m.pick("", "x", "C", "+", ":", "let", "=", "_", "--", "x y", "infixl", "(", "..", "infix")
+		n.Name = m.Pick("", "x", "C", "+", ":", "let", "=", "_", "--", "x y", "infixl", "(", "..", "infix")
 	case 2:
 		n.Num = []int64{math.MinInt64, -1, 0, 1, 9, 10, 32, 33, 255, 256}[m.Intn(10)]
 	case 3:
@@ -362,7 +236,7 @@ func (m maker) spoilOne(n *api.Node) {
 			n.Kids = slices.Delete(slices.Clone(n.Kids), i, i+1)
 		}
 	case 4:
-		n.Kids = slices.Insert(slices.Clone(n.Kids), m.Intn(i+1), m.tree(1+m.Intn(44), 1))
+		n.Kids = slices.Insert(slices.Clone(n.Kids), m.Intn(i+1), m.Tree(1+m.Intn(44), 1))
 	case 5:
 		if i > 1 {
 			a, b := m.Intn(i), m.Intn(i)
@@ -382,10 +256,10 @@ func size(n api.Node) (nodes, deep int) {
 }
 
 func TestAsTheReference(t *testing.T) {
-	r, m := newReference(), maker{rand.New(rand.NewSource(4))}
+	r, m := newReference(), newMaker(4)
 	good, wrong := map[int]int{}, 0
 	for range 60000 {
-		n := m.tree(1+m.Intn(44), 1+m.Intn(5))
+		n := m.Tree(1+m.Intn(44), 1+m.Intn(5))
 		if m.Intn(2) == 0 {
 			for range 1 + m.Intn(2) {
 				m.spoil(&n)
@@ -408,7 +282,7 @@ func TestAsTheReference(t *testing.T) {
 			continue
 		}
 		good[n.Kind]++
-		each(&n, func(n *api.Node) { n.At = 0 })
+		testkit.Each(&n, func(n *api.Node) { n.At = 0 })
 		if text != r.text(n) {
 			t.Fatalf("Text(%+v) = %q, want %q", n, text, r.text(n))
 		}
@@ -481,19 +355,19 @@ func lists(of []api.Node, n int) [][]api.Node {
 
 // What follows from P4.1 for trees of all kinds, those that may not be too.
 func TestSameStripAndNamesOfMadeTrees(t *testing.T) {
-	m := maker{rand.New(rand.NewSource(5))}
+	m := newMaker(5)
 	for range 20000 {
-		n := m.tree(1+m.Intn(44), 1+m.Intn(4))
+		n := m.Tree(1+m.Intn(44), 1+m.Intn(4))
 		if m.Intn(2) == 0 {
 			m.spoil(&n)
 		}
-		before := copied(n)
+		before := testkit.Copied(n)
 		s := syntax.Strip(n)
 		if !syntax.Same(n, before) || !syntax.Same(s, syntax.Strip(s)) || !slices.Equal(syntax.Names(n), syntax.Names(s)) {
 			t.Fatalf("Strip(%+v) = %+v", n, s)
 		}
 		parens := 0
-		each(&n, func(n *api.Node) {
+		testkit.Each(&n, func(n *api.Node) {
 			if n.Kind == api.NdParen {
 				parens++
 			}

@@ -8,6 +8,7 @@ import (
 
 	"thunkmill/api"
 	"thunkmill/syntax"
+	"thunkmill/testkit"
 )
 
 func TestSame(t *testing.T) {
@@ -18,9 +19,9 @@ func TestSame(t *testing.T) {
 				t.Errorf("Same(%s, %s) = %v", a.text, b.text, got)
 			}
 		}
-		moved := copied(a.node)
+		moved := testkit.Copied(a.node)
 		at := 0
-		each(&moved, func(n *api.Node) { at++; n.At = at })
+		testkit.Each(&moved, func(n *api.Node) { at++; n.At = at })
 		if !syntax.Same(a.node, moved) || !syntax.Same(moved, a.node) {
 			t.Errorf("%s is not the same at other places", a.text)
 		}
@@ -37,7 +38,7 @@ func TestSame(t *testing.T) {
 func TestSameTellsFieldsApart(t *testing.T) {
 	for _, s := range samples() {
 		count := 0
-		each(&s.node, func(*api.Node) { count++ })
+		testkit.Each(&s.node, func(*api.Node) { count++ })
 		for which := range count {
 			for what, change := range []func(n *api.Node){
 				func(n *api.Node) { n.Kind++ },
@@ -46,9 +47,9 @@ func TestSameTellsFieldsApart(t *testing.T) {
 				func(n *api.Node) { n.Kids = append(n.Kids, num(1)) },
 				func(n *api.Node) { n.Kids = n.Kids[:max(len(n.Kids)-1, 0)] },
 			} {
-				other := copied(s.node)
+				other := testkit.Copied(s.node)
 				at, changed := 0, true
-				each(&other, func(n *api.Node) {
+				testkit.Each(&other, func(n *api.Node) {
 					if at == which {
 						changed = what < 4 || len(n.Kids) > 0
 						change(n)
@@ -119,19 +120,11 @@ func checkStrip(t *testing.T, what string, n, want api.Node) {
 	if !syntax.Same(got, want) {
 		t.Errorf("%s: Strip = %v, want %v", what, got, want)
 	}
-	each(&got, func(n *api.Node) {
+	testkit.Each(&got, func(n *api.Node) {
 		if n.At != 0 {
 			t.Errorf("%s: a place %d is left", what, n.At)
 		}
 	})
-}
-
-// placed is a node with a place of its own at each node.
-func placed(n api.Node) api.Node {
-	n = copied(n)
-	at := 6
-	each(&n, func(n *api.Node) { at++; n.At = at })
-	return n
 }
 
 func TestStrip(t *testing.T) {
@@ -139,7 +132,7 @@ func TestStrip(t *testing.T) {
 		if s.node.Kind == api.NdParen {
 			continue
 		}
-		checkStrip(t, s.text, placed(s.node), s.node)
+		checkStrip(t, s.text, testkit.Placed(s.node), s.node)
 	}
 	x, y := v("x"), v("y")
 	rows := []struct{ n, want api.Node }{
@@ -154,7 +147,7 @@ func TestStrip(t *testing.T) {
 		{of(api.NdTuple, paren(of(api.NdTuple, x, y)), y), of(api.NdTuple, of(api.NdTuple, x, y), y)},
 	}
 	for _, r := range rows {
-		checkStrip(t, told(r.n), placed(r.n), r.want)
+		checkStrip(t, told(r.n), testkit.Placed(r.n), r.want)
 		checkStrip(t, told(r.n), r.n, r.want)
 	}
 }
@@ -187,14 +180,14 @@ func TestStripNodesThatMayNotBe(t *testing.T) {
 	}
 	for _, r := range rows {
 		checkStrip(t, r.what, r.n, r.want)
-		checkStrip(t, r.what+", with places", placed(r.n), r.want)
+		checkStrip(t, r.what+", with places", testkit.Placed(r.n), r.want)
 	}
 }
 
 func TestStripDeepAndWideNodes(t *testing.T) {
-	checkStrip(t, "256 deep", placed(nested(api.MaxDeep)), v("x"))
+	checkStrip(t, "256 deep", testkit.Placed(nested(api.MaxDeep)), v("x"))
 	last := of(0, v("x"), nested(api.MaxDeep))
-	for _, n := range []api.Node{nested(api.MaxDeep + 1), placed(nested(api.MaxDeep + 1)), nested(100000), last, endless(0), endless(api.NdVar), endless(api.NdParen)} {
+	for _, n := range []api.Node{nested(api.MaxDeep + 1), testkit.Placed(nested(api.MaxDeep + 1)), nested(100000), last, endless(0), endless(api.NdVar), endless(api.NdParen)} {
 		if got := syntax.Strip(n); !reflect.DeepEqual(got, api.Node{}) {
 			t.Errorf("a node too deep: %v", got)
 		}
@@ -226,7 +219,7 @@ func TestNames(t *testing.T) {
 	checkNames(t, "of a guard and a block", rhs(guard(v("y"), v("x")), where(bind("w", v("a")))), "a", "x", "y")
 	for _, s := range samples() {
 		var l []string
-		each(&s.node, func(n *api.Node) {
+		testkit.Each(&s.node, func(n *api.Node) {
 			if n.Kind == api.NdVar {
 				l = append(l, n.Name)
 			}
@@ -252,32 +245,6 @@ func TestNamesOfNodesThatMayNotBe(t *testing.T) {
 	checkNames(t, "endless parentheses", endless(api.NdParen))
 }
 
-// spare is a node whose lists of kids have spare room, with marked nodes in it.
-func spare(n api.Node) api.Node {
-	kids := make([]api.Node, len(n.Kids), len(n.Kids)+3)
-	for i, k := range n.Kids {
-		kids[i] = spare(k)
-	}
-	for i := range 3 {
-		kids[:cap(kids)][len(kids)+i] = marked()
-	}
-	n.Kids = kids
-	return n
-}
-
-func marked() api.Node {
-	return api.Node{Kind: math.MinInt, Name: "a mark", Num: -9, At: -9, Kids: []api.Node{v("marked")}}
-}
-
-// overwrite changes all that can be reached of a tree, the spare room of its lists too.
-func overwrite(n *api.Node) {
-	kids := n.Kids[:cap(n.Kids)]
-	for i := range kids {
-		overwrite(&kids[i])
-	}
-	n.Kind, n.Name, n.Num, n.At = -5, "overwritten", -5, -5
-}
-
 func trees() []api.Node {
 	all := []api.Node{
 		app(paren(v("f")), paren(app(v("g"), paren(v("x")))), v("y")),
@@ -295,35 +262,35 @@ func trees() []api.Node {
 // What Strip answered and what it was handed have no memory in common, spare room neither.
 func TestStripAnswersNewMemory(t *testing.T) {
 	for _, n := range trees() {
-		want := syntax.Strip(placed(n))
-		handed := spare(placed(n))
-		before := copied(handed)
+		want := syntax.Strip(testkit.Placed(n))
+		handed := testkit.Spare(testkit.Placed(n))
+		before := testkit.Copied(handed)
 		got := syntax.Strip(handed)
-		if !reflect.DeepEqual(copied(handed), before) {
+		if !reflect.DeepEqual(testkit.Copied(handed), before) {
 			t.Errorf("%s: what was handed in is changed", told(n))
 		}
-		each(&handed, func(n *api.Node) {
+		testkit.Each(&handed, func(n *api.Node) {
 			for _, k := range n.Kids[len(n.Kids):cap(n.Kids)] {
-				if !reflect.DeepEqual(k, marked()) {
+				if !reflect.DeepEqual(k, testkit.Marked()) {
 					t.Errorf("spare room is written")
 				}
 			}
 		})
-		each(&got, func(n *api.Node) {
+		testkit.Each(&got, func(n *api.Node) {
 			for _, k := range n.Kids[:cap(n.Kids)] {
 				if k.Kind == math.MinInt {
 					t.Errorf("spare room is handed out")
 				}
 			}
 		})
-		overwrite(&handed)
+		testkit.Overwrite(&handed)
 		if !syntax.Same(got, want) {
 			t.Errorf("%s: the answer heeds what was handed in: %v", told(n), got)
 		}
-		handed = spare(placed(n))
+		handed = testkit.Spare(testkit.Placed(n))
 		got = syntax.Strip(handed)
-		overwrite(&got)
-		if !reflect.DeepEqual(copied(handed), before) {
+		testkit.Overwrite(&got)
+		if !reflect.DeepEqual(testkit.Copied(handed), before) {
 			t.Errorf("%s: what was handed in heeds the answer", told(n))
 		}
 	}
@@ -335,7 +302,7 @@ func TestStripSharesNoLists(t *testing.T) {
 	n := of(api.NdList, twice, twice, paren(twice))
 	got := syntax.Strip(n)
 	for i := range got.Kids {
-		want := copied(got)
+		want := testkit.Copied(got)
 		want.Kids[i].Kids[1] = num(5)
 		want.Kids[i].Kids = append(want.Kids[i].Kids, num(6))
 		got.Kids[i].Kids[1] = num(5)
@@ -352,24 +319,24 @@ func TestStripSharesNoLists(t *testing.T) {
 func TestLexemesAnswerNewMemory(t *testing.T) {
 	for _, s := range samples() {
 		want, _ := syntax.Lexemes(s.node)
-		handed := spare(placed(s.node))
-		before := copied(handed)
+		handed := testkit.Spare(testkit.Placed(s.node))
+		before := testkit.Copied(handed)
 		got, e := syntax.Lexemes(handed)
-		if e != api.OK || !slices.Equal(got, want) || !reflect.DeepEqual(copied(handed), before) {
+		if e != api.OK || !slices.Equal(got, want) || !reflect.DeepEqual(testkit.Copied(handed), before) {
 			t.Errorf("%s: spare room or places count", s.text)
 		}
 		again, _ := syntax.Lexemes(handed)
-		overwrite(&handed)
+		testkit.Overwrite(&handed)
 		if !slices.Equal(got, want) {
 			t.Errorf("%s: the answer heeds what was handed in", s.text)
 		}
-		handed = spare(placed(s.node))
+		handed = testkit.Spare(testkit.Placed(s.node))
 		got, _ = syntax.Lexemes(handed)
 		l := got[:cap(got)]
 		for i := range l {
 			l[i] = api.Token{Kind: -1, Text: "overwritten"}
 		}
-		if !reflect.DeepEqual(copied(handed), before) || !slices.Equal(again, want) {
+		if !reflect.DeepEqual(testkit.Copied(handed), before) || !slices.Equal(again, want) {
 			t.Errorf("%s: what was handed in, or answered ahead, heeds the answer", s.text)
 		}
 		if after, _ := syntax.Lexemes(handed); !slices.Equal(after, want) {

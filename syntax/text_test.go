@@ -10,6 +10,7 @@ import (
 	"thunkmill/api"
 	"thunkmill/lex"
 	"thunkmill/syntax"
+	"thunkmill/testkit"
 )
 
 // checkText holds a node to its text, its text to its lexemes, and these to what lex reads.
@@ -41,7 +42,7 @@ func TestExamplesOfTheChapter(t *testing.T) {
 func TestTextOfEachKind(t *testing.T) {
 	for _, s := range samples() {
 		checkText(t, s.node, s.text)
-		checkText(t, placed(s.node), s.text)
+		checkText(t, testkit.Placed(s.node), s.text)
 	}
 }
 
@@ -192,7 +193,7 @@ func TestAtomsWhereTheyAreAskedFor(t *testing.T) {
 		{func(n api.Node) api.Node { return of(api.NdNeg, n) }, "-", ""},
 		{func(n api.Node) api.Node { return named(api.NdLeft, "+", n) }, "(", "+ )"},
 		{func(n api.Node) api.Node { return named(api.NdRight, "+", n) }, "( +", ")"},
-	}, expressions(), atomic)
+	}, testkit.Expressions(), atomic)
 	checkHoles(t, []hole{
 		{func(n api.Node) api.Node { return named(api.NdEqn, "f", n, rhs(x)) }, "f", "= x"},
 		{func(n api.Node) api.Node { return named(api.NdEqn, "f", p, n, p, rhs(x)) }, "f p", "p = x"},
@@ -206,7 +207,7 @@ func TestAtomsWhereTheyAreAskedFor(t *testing.T) {
 		{func(n api.Node) api.Node { return of(api.NdPLazy, n) }, "~", ""},
 		{func(n api.Node) api.Node { return of(api.NdPOps, n, op(":"), p) }, "", ": p"},
 		{func(n api.Node) api.Node { return of(api.NdPOps, p, op(":"), n) }, "p :", ""},
-	}, patterns(), atomic)
+	}, testkit.Patterns(), atomic)
 }
 
 func TestNoParenthesesWhereNoAtomIsAskedFor(t *testing.T) {
@@ -231,14 +232,14 @@ func TestNoParenthesesWhereNoAtomIsAskedFor(t *testing.T) {
 		{func(n api.Node) api.Node { return paren(n) }, "(", ")"},
 		{func(n api.Node) api.Node { return gen(p, n) }, "p <-", ""},
 		{func(n api.Node) api.Node { return of(api.NdDo, stmt(n)) }, "do {", "; }"},
-	}, expressions(), always)
+	}, testkit.Expressions(), always)
 	checkHoles(t, []hole{
 		{func(n api.Node) api.Node { return of(api.NdBind, n, rhs(x)) }, "", "= x"},
 		{func(n api.Node) api.Node { return of(api.NdAlt, n, rhs(x)) }, "", "-> x"},
 		{func(n api.Node) api.Node { return gen(n, x) }, "", "<- x"},
 		{func(n api.Node) api.Node { return of(api.NdPTuple, n, p) }, "(", ", p )"},
 		{func(n api.Node) api.Node { return of(api.NdPList, p, n) }, "[ p ,", "]"},
-	}, patterns(), always)
+	}, testkit.Patterns(), always)
 }
 
 // checkRefused holds a node to an error, with which there is nothing else.
