@@ -11,107 +11,6 @@ import (
 	"thunkmill/testkit"
 )
 
-const mark = "a mark"
-
-// spared is a list with marked spare room.
-func spared[T any](l []T, with T) []T {
-	return append(slices.Grow(slices.Clone(l), 2), with, with)[:len(l)]
-}
-
-// spare is an expression in memory of its own whose lists have spare room, with marks in it.
-func spare(e api.Expr) api.Expr {
-	marked := api.Expr{Kind: -9, Name: mark}
-	e.Params, e.Args = spared(e.Params, mark), spared(e.Args, marked)
-	e.Binds, e.Alts = spared(e.Binds, api.Bind{Name: mark, E: marked}), spared(e.Alts, api.Alt{Name: mark, E: marked})
-	for i := range e.Args {
-		e.Args[i] = spare(e.Args[i])
-	}
-	for i := range e.Binds {
-		e.Binds[i].E = spare(e.Binds[i].E)
-	}
-	for i := range e.Alts {
-		e.Alts[i].Vars, e.Alts[i].E = spared(e.Alts[i].Vars, mark), spare(e.Alts[i].E)
-	}
-	return e
-}
-
-// whole is an expression with all spare room as parts of it, in memory of its own.
-func whole(e api.Expr) api.Expr {
-	e.Params, e.Args = slices.Clone(e.Params[:cap(e.Params)]), slices.Clone(e.Args[:cap(e.Args)])
-	e.Binds, e.Alts = slices.Clone(e.Binds[:cap(e.Binds)]), slices.Clone(e.Alts[:cap(e.Alts)])
-	for i := range e.Args {
-		e.Args[i] = whole(e.Args[i])
-	}
-	for i := range e.Binds {
-		e.Binds[i].E = whole(e.Binds[i].E)
-	}
-	for i := range e.Alts {
-		e.Alts[i].Vars, e.Alts[i].E = slices.Clone(e.Alts[i].Vars[:cap(e.Alts[i].Vars)]), whole(e.Alts[i].E)
-	}
-	return e
-}
-
-// wholeNode is a node with all spare room as parts of it, in memory of its own.
-func wholeNode(n api.Node) api.Node {
-	n.Kids = slices.Clone(n.Kids[:cap(n.Kids)])
-	for i := range n.Kids {
-		n.Kids[i] = wholeNode(n.Kids[i])
-	}
-	return n
-}
-
-// overwrite changes all that can be reached of an expression.
-func overwrite(e *api.Expr) {
-	args, binds, alts := e.Args[:cap(e.Args)], e.Binds[:cap(e.Binds)], e.Alts[:cap(e.Alts)]
-	for i := range args {
-		overwrite(&args[i])
-	}
-	for i := range binds {
-		overwrite(&binds[i].E)
-		binds[i].Name = "overwritten"
-	}
-	for i := range alts {
-		overwrite(&alts[i].E)
-		overwriteNames(alts[i].Vars)
-		alts[i].Kind, alts[i].Name, alts[i].Num = -5, "overwritten", -5
-	}
-	overwriteNames(e.Params)
-	e.Kind, e.Name, e.Num = -5, "overwritten", -5
-}
-
-func overwriteNames(l []string) {
-	for i := range l[:cap(l)] {
-		l[:cap(l)][i] = "overwritten"
-	}
-}
-
-// owned gathers where the items of all lists of an expression are, their spare room with them, and tells whether one of them is there already.
-func owned(e *api.Expr, at map[any]bool) bool {
-	ok := true
-	own := func(p any) { ok = ok && !at[p]; at[p] = true }
-	names := func(l []string) {
-		for i := range l[:cap(l)] {
-			own(&l[:cap(l)][i])
-		}
-	}
-	args, binds, alts := e.Args[:cap(e.Args)], e.Binds[:cap(e.Binds)], e.Alts[:cap(e.Alts)]
-	names(e.Params)
-	for i := range args {
-		own(&args[i])
-		ok = owned(&args[i], at) && ok
-	}
-	for i := range binds {
-		own(&binds[i])
-		ok = owned(&binds[i].E, at) && ok
-	}
-	for i := range alts {
-		own(&alts[i])
-		names(alts[i].Vars)
-		ok = owned(&alts[i].E, at) && ok
-	}
-	return ok
-}
-
 // question is what all calls are handed in a test.
 type question struct {
 	cons   []api.Con
@@ -123,22 +22,22 @@ type question struct {
 
 // question is one by chance, with marked spare room.
 func (m *maker) question(wrong bool) question {
-	q := question{cons: spared(cons(), api.Con{Name: "Zoe"}), p: m.pattern(4), no: variable("no"), vars: spared([]string{"w", "v"}, "w")}
-	q.ok = spare(m.comes(namesOf(q.p)))
+	q := question{cons: testkit.Spared(cons(), api.Con{Name: "Zoe"}), p: m.pattern(4), no: variable("no"), vars: testkit.Spared([]string{"w", "v"}, "w")}
+	q.ok = testkit.SpareExpr(m.comes(namesOf(q.p)))
 	if m.Intn(2) == 0 {
 		q.no = failure()
 	}
-	q.no = spare(q.no)
-	q.rows = spared(m.rows(1+m.Intn(3), 2), api.Row{E: api.Expr{Kind: -9}})
+	q.no = testkit.SpareExpr(q.no)
+	q.rows = testkit.Spared(m.rows(1+m.Intn(3), 2), api.Row{E: api.Expr{Kind: -9}})
 	for i := range q.rows {
-		q.rows[i].Pats = spared(q.rows[i].Pats, testkit.Marked())
+		q.rows[i].Pats = testkit.Spared(q.rows[i].Pats, testkit.Marked())
 		for k, p := range q.rows[i].Pats {
 			if wrong {
 				p = m.spoil(p)
 			}
 			q.rows[i].Pats[k] = testkit.Spare(p)
 		}
-		q.rows[i].E = spare(q.rows[i].E)
+		q.rows[i].E = testkit.SpareExpr(q.rows[i].E)
 	}
 	if wrong {
 		q.p = m.spoil(q.p)
@@ -149,12 +48,12 @@ func (m *maker) question(wrong bool) question {
 
 // kept is a question with its spare room as parts of it, in memory of its own.
 func (q question) kept() question {
-	k := question{cons: slices.Clone(q.cons[:cap(q.cons)]), p: wholeNode(q.p), ok: whole(q.ok), no: whole(q.no), vars: slices.Clone(q.vars[:cap(q.vars)]), rows: slices.Clone(q.rows[:cap(q.rows)])}
+	k := question{cons: slices.Clone(q.cons[:cap(q.cons)]), p: testkit.WholeNode(q.p), ok: testkit.WholeExpr(q.ok), no: testkit.WholeExpr(q.no), vars: slices.Clone(q.vars[:cap(q.vars)]), rows: slices.Clone(q.rows[:cap(q.rows)])}
 	for i := range k.rows {
-		k.rows[i].E = whole(k.rows[i].E)
+		k.rows[i].E = testkit.WholeExpr(k.rows[i].E)
 		k.rows[i].Pats = slices.Clone(k.rows[i].Pats[:cap(k.rows[i].Pats)])
 		for j := range k.rows[i].Pats {
-			k.rows[i].Pats[j] = wholeNode(k.rows[i].Pats[j])
+			k.rows[i].Pats[j] = testkit.WholeNode(k.rows[i].Pats[j])
 		}
 	}
 	return k
@@ -165,14 +64,14 @@ func (q question) overwrite() {
 		q.cons[:cap(q.cons)][i] = api.Con{Name: "Overwritten"}
 	}
 	testkit.Overwrite(&q.p)
-	overwrite(&q.ok)
-	overwrite(&q.no)
-	overwriteNames(q.vars)
+	testkit.OverwriteExpr(&q.ok)
+	testkit.OverwriteExpr(&q.no)
+	testkit.OverwriteNames(q.vars)
 	for _, r := range q.rows {
 		for i := range r.Pats {
 			testkit.Overwrite(&r.Pats[i])
 		}
-		overwrite(&r.E)
+		testkit.OverwriteExpr(&r.E)
 	}
 }
 
@@ -202,13 +101,13 @@ func TestMemory(t *testing.T) {
 		if !reflect.DeepEqual(q.kept(), before) {
 			t.Fatalf("what was handed in has changed: %v", q)
 		}
-		at := map[any]bool{}
+		at := testkit.Memory{}
 		handed := []api.Expr{q.ok, q.no}
 		for _, r := range q.rows {
 			handed = append(handed, r.E)
 		}
 		for _, e := range append(handed, l...) {
-			if !owned(&e, at) {
+			if !at.OwnExpr(&e) {
 				t.Fatalf("lists share memory: %v", texts(l))
 			}
 		}
@@ -218,7 +117,7 @@ func TestMemory(t *testing.T) {
 			t.Fatalf("another answer: %v, want %v", texts(again), want)
 		}
 		for i := range again {
-			overwrite(&again[i])
+			testkit.OverwriteExpr(&again[i])
 		}
 		if !reflect.DeepEqual(q.kept(), before) {
 			t.Fatalf("what was handed in heeds an answer: %v", q)
