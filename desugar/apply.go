@@ -20,14 +20,22 @@ func (m *maker) headOf(n *api.Node) (head, bool) {
 	case api.NdParen:
 		return m.headOf(&n.Kids[0])
 	case api.NdCon:
-		c := m.cons[n.Name]
-		return head{api.ExCon, c.Name, c.Arity}, true
+		return m.constructor(n.Name), true
 	case api.NdVar:
 		_, hidden := m.scope[n.Name]
 		arity := core.Arity(n.Name)
 		return head{api.ExPrim, n.Name, arity}, !hidden && arity >= 0
 	}
 	return head{}, false
+}
+
+// constructor tells one of a name. No one asks whether a section's operator is there: one that is not is taken as without parts.
+func (m *maker) constructor(name string) head {
+	c, there := m.cons[name]
+	if !there {
+		return head{kind: api.ExCon, name: name}
+	}
+	return head{api.ExCon, c.Name, c.Arity}
 }
 
 func (m *maker) with(h head, args []api.Expr) api.Expr {

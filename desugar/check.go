@@ -27,7 +27,7 @@ func wrongExpr(n *api.Node, cons []api.Con) api.Fault {
 	if f := firstFault(nodes(n, headLast), wrongNames); f.Err != api.OK {
 		return f
 	}
-	return wrongPlain(n, known)
+	return firstFault(nodes(n, fromLeft), tooManyPatterns)
 }
 
 // wrongProgram tells what is wrong with what Program is handed.
@@ -41,18 +41,19 @@ func wrongProgram(n *api.Node) api.Fault {
 	if !slices.Contains(scope.Defines(n.Kids), "main") {
 		return api.Fault{Err: api.ErrMain}
 	}
+	if f := firstFault(nodes(n, fromLeft), tooManyPatterns); f.Err != api.OK {
+		return f
+	}
 	cons, _ := shape.Cons(*n)
-	return wrongPlain(n, byName(cons))
+	return firstFault(nodes(n, fromLeft), byName(cons).wrongSection)
 }
 
-// wrongPlain tells what is wrong with nodes whose names and shapes are fine.
-func wrongPlain(n *api.Node, known constructors) api.Fault {
-	for k := range nodes(n, fromLeft) {
-		if (k.Kind == api.NdEqn || k.Kind == api.NdLam) && len(k.Kids)-1 > api.MaxParams {
-			return api.Fault{Err: api.ErrLong}
-		}
+// tooManyPatterns asks a node for more patterns than a function of the core may have parameters.
+func tooManyPatterns(n *api.Node) api.Fault {
+	if (n.Kind == api.NdEqn || n.Kind == api.NdLam) && len(n.Kids)-1 > api.MaxParams {
+		return api.Fault{Err: api.ErrLong}
 	}
-	return firstFault(nodes(n, fromLeft), known.wrongSection)
+	return api.Fault{}
 }
 
 func isExpression(kind int) bool {
@@ -156,7 +157,7 @@ func (c constructors) wrongShape(n *api.Node) api.Fault {
 	return api.Fault{}
 }
 
-// wrongSection tells whether a section's operator is a constructor that is none. No layer below asks for it, but nothing could be made of it.
+// wrongSection tells whether a section's operator is a constructor that is none. No layer below asks for it, but core.Check would not pass a program with it.
 func (c constructors) wrongSection(n *api.Node) api.Fault {
 	if n.Kind != api.NdLeft && n.Kind != api.NdRight {
 		return api.Fault{}

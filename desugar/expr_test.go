@@ -91,6 +91,18 @@ func TestSections(t *testing.T) {
 	checkExpr(t, named(api.NdRight, ":+", one()), letIn(lamOf(conOf(":+", variable("x"), variable("v")), "x"), api.Bind{Name: "v", E: number(1)}))
 }
 
+// P13.1: a section's operator that is a constructor which is none is taken as one without parts, alone and within other expressions.
+func TestSectionsOfUnknown(t *testing.T) {
+	checkTexts(t, [][2]string{
+		{"(x `Zoe`)", "((Zoe) x)"}, {"(`Zoe` x)", `(let v = x in (\ y -> ((Zoe) y v)))`}, {"(x `Zoe`) 1 2", "(((Zoe) x) 1 2)"}, {"((`Zoe` 1) 2)", `((let v = 1 in (\ y -> ((Zoe) y v))) 2)`},
+		{"(`Zoe` (1 `Zoe`))", `(let v = ((Zoe) 1) in (\ y -> ((Zoe) y v)))`}, {"((: 1) `Zoe`)", `((Zoe) (let v = 1 in (\ y -> (Cons y v))))`}, {"(: (`Zoe` 1))", `(let v = (let w = 1 in (\ y -> ((Zoe) y w))) in (\ y -> (Cons y v)))`},
+		{"let z = (`Zoe` z) in z", `(let z = (let v = z in (\ y -> ((Zoe) y v))) in z)`}, {`\ x -> (x ` + "`Zoe`)", `(\ a -> (let no = failure in (let x = a in ((Zoe) x))))`}, {"case x of y -> (y `Zoe`)", "(let v = x in (let no = failure in (let y = v in ((Zoe) y))))"},
+		{"do { (1 `Zoe`) ; (`Zoe` 2) }", `(#bind ((Zoe) 1) (\ a -> (let v = 2 in (\ y -> ((Zoe) y v)))))`}, {"[ 1 | (x `Zoe`) ]", "(case ((Zoe) x) of True -> (Cons 1 (Nil)); False -> (Nil))"}, {"[(1 `Zoe`), (1 `A`)]", "(Cons ((Zoe) 1) (Cons ((A) 1) (Nil)))"},
+	})
+	checkExpr(t, tree(t, "(1 :~)"), appOf(conOf(":~"), number(1)))
+	checkExpr(t, tree(t, "(:~ 1)"), letIn(lamOf(appOf(conOf(":~"), variable("x"), variable("v")), "x"), api.Bind{Name: "v", E: number(1)}))
+}
+
 // of is a node applied to so many ones.
 func of(f api.Node, n int) api.Node {
 	return node(api.NdApp, append([]api.Node{f}, many(n, one())...)...)

@@ -11,10 +11,13 @@ import (
 	"thunkmill/syntax"
 )
 
-// seenIn counts the kinds of nodes that a tree has.
+// seenIn counts the kinds of nodes that a tree has, and the sections of constructors that are none.
 func (c counted) seenIn(n api.Node) {
 	for _, k := range places(&n) {
 		c[strconv.Itoa(k.Kind)]++
+		if slices.Contains(unknown(), k.Name) {
+			c[k.Name+strconv.Itoa(k.Kind)]++
+		}
 	}
 }
 
@@ -36,6 +39,9 @@ func TestMadeExpressions(t *testing.T) {
 	}
 	for _, kind := range []int{api.NdEqn, api.NdBind, api.NdRhs, api.NdGuard, api.NdWhere, api.NdVar, api.NdCon, api.NdInt, api.NdChar, api.NdString, api.NdApp, api.NdNeg, api.NdLam, api.NdLet, api.NdIf, api.NdCase, api.NdAlt, api.NdDo, api.NdTuple, api.NdList, api.NdComp, api.NdLeft, api.NdRight, api.NdParen, api.NdGen, api.NdLets, api.NdStmt, api.NdPVar, api.NdPAny, api.NdPInt, api.NdPChar, api.NdPString, api.NdPCon, api.NdPTuple, api.NdPList, api.NdPAs, api.NdPLazy} {
 		seen.least(t, map[string]int{strconv.Itoa(kind): 450})
+	}
+	for _, name := range unknown() {
+		seen.least(t, map[string]int{name + strconv.Itoa(api.NdLeft): 30, name + strconv.Itoa(api.NdRight): 30})
 	}
 }
 

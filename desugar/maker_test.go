@@ -133,6 +133,9 @@ func (m *maker) expr(deep int, in []string) api.Node {
 	case api.NdLeft, api.NdRight:
 		n.Kids = m.exprs(1, deep, in)
 		n.Name = pick(m, m.name(in), m.name(in), pick(m, append(m.cons, api.Con{Name: ":"})...).Name)
+		if m.open && m.Intn(6) == 0 {
+			n.Name = pick(m, unknown()...)
+		}
 	case api.NdIf:
 		n.Kids = m.exprs(3, deep, in)
 	case api.NdTuple:

@@ -146,7 +146,7 @@ func TestScopeFaults(t *testing.T) {
 	}
 }
 
-// P13.1: of two faults that one which is named first: syntax, what may not be, shape, scope, too many.
+// P13.1, P13.2: of two faults that one which is named first: syntax, what may not be, shape, scope, too many. (A section's constructor that is none is a program's fault alone, behind these.)
 func TestOrderOfFaults(t *testing.T) {
 	shapeFault := api.Node{Kind: api.NdCon, Name: "Zoe", At: 11}
 	scopeFault := node(api.NdLam, named(api.NdPVar, "x"), api.Node{Kind: api.NdPVar, Name: "x", At: 22}, one())
@@ -162,7 +162,11 @@ func TestOrderOfFaults(t *testing.T) {
 	for i := range l {
 		for k := range l {
 			want := l[min(i, k)].want
-			checkFault(t, "two faults", node(api.NdTuple, l[i].n, l[k].n), cons(), want)
+			of := want
+			if want.At == section.At {
+				of = api.Fault{}
+			}
+			checkFault(t, "two faults", node(api.NdTuple, l[i].n, l[k].n), cons(), of)
 			checkProgramFault(t, "two faults", node(api.NdProgram, is("main", l[i].n), is("x", l[k].n), named(api.NdEqn, "+", anything(), anything(), node(api.NdRhs, one()))), programWant(l[i].n, l[k].n, want))
 		}
 	}
@@ -197,13 +201,18 @@ func TestProgramFaults(t *testing.T) {
 	checkProgramFault(t, "no main, operators", node(api.NdProgram, is("x", ops)), api.Fault{Err: api.ErrArg})
 }
 
-// P13.1, P13.2: a section's constructor that is none is one of the faults, at the section's place: of what is made of it core.Check could say nothing good.
+// P13.1, P13.4: a section's constructor that is none is no fault of an expression; it is one of a program, at the section's place: what is made of it would not pass core.Check.
 func TestSectionsOfNothing(t *testing.T) {
-	for text, want := range map[string]api.Fault{"(1 `Zoe`)": {Err: api.ErrScope, At: 0}, "f (`Zoe` 1)": {Err: api.ErrScope, At: 2}, "(1 :-)": {Err: api.ErrScope, At: 0}, "(:- 1)": {Err: api.ErrScope, At: 0}, "((1 :), (`B` 1))": {}} {
-		checkFault(t, text, tree(t, text), cons(), want)
+	for text, at := range map[string]int{"(1 `Zoe`)": 0, "f (`Zoe` 1)": 2, "(1 :~)": 0, "(:~ 1)": 0, "let {z = (:~ 1)} in z": 9, "\\ x -> (x :~)": 7, "case 1 of { 2 | (`Zoe` 1) -> 3 }": 16, "[ (1 `Zoe`) | x <- l ]": 2, "do { x <- 1 ; (:~ x) }": 14} {
+		checkFault(t, text, tree(t, text), cons(), api.Fault{})
+		checkProgramFault(t, text, program(t, "f = 1; l = 2; main = "+text), api.Fault{Err: api.ErrScope, At: at + 21})
 	}
-	checkProgramFault(t, "a program", program(t, "main = (1 :+)"), api.Fault{Err: api.ErrScope, At: 7})
-	checkFault(t, "fine", named(api.NdLeft, ":+", one()), cons(), api.Fault{})
+	for _, text := range []string{"((1 :), (`Just` 1))", "\\ x -> (: x)"} {
+		checkFault(t, text, tree(t, text), cons(), api.Fault{})
+		checkProgramFault(t, text, program(t, "data T = Just a; main = "+text), api.Fault{})
+	}
+	checkProgramFault(t, "no operator", program(t, "main = (1 :+)"), api.Fault{Err: api.ErrScope, At: 7})
+	checkFault(t, "an operator", named(api.NdLeft, ":+", one()), cons(), api.Fault{})
 }
 
 // P13.1, P13.2: as many patterns as may be, and one more.
