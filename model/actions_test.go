@@ -98,10 +98,10 @@ func TestBind(t *testing.T) {
 		{"(#bind (#bind (#exit 7) (\\ x -> (#putc '97'))) (1 2))", "", "exit 7 in 7"},
 		{"(#bind (#bind (#ret 1) (\\ x -> (#exit 7))) (\\ y -> (#putc '97')))", "", "exit 7 in 10"},
 		// What is no action, no function.
-		{"(#bind 1 (\\ x -> (#ret x)))", "", "wrong action in 4"},
+		{"(#bind 1 (\\ x -> (#ret x)))", "", "wrong action in 3"},
 		{"(#bind (#ret 1) 2)", "", "wrong apply in 5"},
-		{"(#bind (#ret 1) (\\ x -> x))", "", "wrong action in 8"},
-		{"(#bind (#ret 1) (\\ x y -> (#ret x)))", "", "wrong action in 6"},
+		{"(#bind (#ret 1) (\\ x -> x))", "", "wrong action in 7"},
+		{"(#bind (#ret 1) (\\ x y -> (#ret x)))", "", "wrong action in 5"},
 		{"(#bind (#ret 1) (#ret 2))", "", "wrong apply in 5"},
 		{"(#bind (1 2) (\\ x -> (#ret x)))", "", "wrong apply in 4"},
 		{"(#bind (#putc '97') (1 2))", "", `wrong apply wrote "a" in 7`},
@@ -114,21 +114,27 @@ func TestBind(t *testing.T) {
 		// Of a function with more parameters: with some of its arguments.
 		{"(#bind (#ret 3) (add 4))", "", "exit 7 in 14"},
 		// A function that has one parameter, of which what comes is a function, is no action.
-		{"(#bind (#ret 3) add)", "", "wrong action in 6"},
+		{"(#bind (#ret 3) add)", "", "wrong action in 5"},
 	}, "add = (\\ x y -> (#exit (#add x y)))", "loop = loop")
 }
 
-// Run: what is no action ends the run where it is to be performed.
+// Run: what is no action ends the run as soon as it is to be performed: no step is taken for it, and no fuel is asked for.
 func TestNoAction(t *testing.T) {
 	check(t, []doing{
-		{"7", "", "wrong action in 2"},
-		{"'97'", "", "wrong action in 2"},
-		{"(Nil)", "", "wrong action in 2"},
-		{"(Pair 1 2)", "", "wrong action in 2"},
-		{"(\\ x -> (#ret x))", "", "wrong action in 2"},
-		{"((\\ x y -> (#ret x)) 1)", "", "wrong action in 3"},
-		{"(#add 1 2)", "", "wrong action in 4"},
-		{"(#show 1)", "", "wrong action in 3"},
+		{"7", "", "wrong action in 1"},
+		{"(False)", "", "wrong action in 1"},
+		{"(let x = 1 in (False))", "", "wrong action in 2"},
+		{"(#bind 1 2)", "", "wrong action in 3"},
+		{"(#bind (#ret 1) (\\ x -> 7))", "", "wrong action in 6"},
+		{"(#bind (#putc '97') (\\ x -> 7))", "", `wrong action wrote "a" in 7`},
+		{"(#bind (#bind 1 2) 3)", "", "wrong action in 5"},
+		{"'97'", "", "wrong action in 1"},
+		{"(Nil)", "", "wrong action in 1"},
+		{"(Pair 1 2)", "", "wrong action in 1"},
+		{"(\\ x -> (#ret x))", "", "wrong action in 1"},
+		{"((\\ x y -> (#ret x)) 1)", "", "wrong action in 2"},
+		{"(#add 1 2)", "", "wrong action in 3"},
+		{"(#show 1)", "", "wrong action in 2"},
 		{"(#quot 1 0)", "", "error divide by zero in 3"},
 		{"main", "", "loop in 1"},
 		{"(#seq main (#ret 1))", "", "loop in 2"},

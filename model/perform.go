@@ -6,10 +6,11 @@ import "thunkmill/api"
 func (r *run) performAll(main *cell) {
 	act := r.value(main)
 	for {
-		r.step()
+		// A step is taken to perform an action alone: what is none ends the run as it comes, without fuel too.
 		if act.kind != action {
 			panic(wrong(api.WrongAction))
 		}
+		r.step()
 		if act.name == "bind" {
 			r.later = append(r.later, act.parts[1])
 			act = r.value(act.parts[0])

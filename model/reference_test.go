@@ -227,11 +227,11 @@ func (r *refRun) text(v any) string {
 }
 
 func (r *refRun) perform(v any) *refCell {
-	r.step()
 	act, ok := v.(refAct)
 	if !ok {
 		refWrong(api.WrongAction)
 	}
+	r.step()
 	switch act.name {
 	case "ret":
 		return act.parts[0]
