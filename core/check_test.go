@@ -7,6 +7,7 @@ import (
 
 	"thunkmill/api"
 	"thunkmill/core"
+	"thunkmill/testkit"
 )
 
 func checkIs(t *testing.T, what string, p api.Prog, want api.Errno) {
@@ -166,8 +167,8 @@ func TestHowMany(t *testing.T) {
 	}
 	exprIs(t, "a let without bindings", api.Expr{Kind: api.ExLet, Args: one}, api.ErrArg)
 	exprIs(t, "a case without alternatives", api.Expr{Kind: api.ExCase, Args: one}, api.ErrArg)
-	exprIs(t, "a let of many", manyBinds(100), api.OK)
-	exprIs(t, "a case of many", manyAlts(100), api.OK)
+	exprIs(t, "a let of many", testkit.ManyBinds(100), api.OK)
+	exprIs(t, "a case of many", testkit.ManyAlts(100), api.OK)
 }
 
 // P7.1: a constructor with 32 parts may be, one with 33 may not, and none below 0.
@@ -422,7 +423,7 @@ func TestOrderOfErrors(t *testing.T) {
 		told api.Errno
 		make []func() api.Prog
 	}{
-		{api.ErrLong, []func() api.Prog{func() api.Prog { return mainIs(nested(api.MaxNest+1, number(1))) }, func() api.Prog { return mainIs(manyAlts(api.MaxNodes + 1)) }}},
+		{api.ErrLong, []func() api.Prog{func() api.Prog { return mainIs(testkit.Nested(api.MaxNest+1, number(1))) }, func() api.Prog { return mainIs(testkit.ManyAlts(api.MaxNodes + 1)) }}},
 		{api.ErrArg, []func() api.Prog{
 			func() api.Prog { return mainIs(read("(\\ x x -> 1)")) }, func() api.Prog { return mainIs(api.Expr{}) }, func() api.Prog { return prog("main = 1", "main = 1") },
 			func() api.Prog { p := prog("main = 1"); p.Cons = p.Cons[1:]; return p }, func() api.Prog { return mainIs(read("(case 1 of Nil -> 1; True -> 2)")) },
@@ -514,7 +515,7 @@ func TestCheckExprTakesConsAsTheyAre(t *testing.T) {
 }
 
 func TestCheckExprLooksIntoNoBinds(t *testing.T) {
-	p := api.Prog{Binds: []api.Bind{{Name: "z", E: cyclic()}, {Name: "a", E: variable("nowhere")}, {Name: "z", E: api.Expr{}}, {Name: "", E: read("(No)")}, {Name: "a b"}}}
+	p := api.Prog{Binds: []api.Bind{{Name: "z", E: testkit.Cyclic()}, {Name: "a", E: variable("nowhere")}, {Name: "z", E: api.Expr{}}, {Name: "", E: read("(No)")}, {Name: "a b"}}}
 	for text, want := range map[string]api.Errno{"z": api.OK, "a": api.OK, "nowhere": api.ErrScope, "(z a)": api.OK, "b": api.ErrScope, "v": api.OK, "(v w)": api.OK, "(v u)": api.ErrScope, "(\\ u -> (v u))": api.OK, "(\\ v -> (v w))": api.OK, "main": api.ErrScope} {
 		if got := core.CheckExpr(p, read(text), []string{"w", "v", "v", "", "not a name"}); got != want {
 			t.Errorf("CheckExpr of %s: %v instead of %v", text, got, want)
@@ -527,23 +528,23 @@ func TestCheckExprLooksIntoNoBinds(t *testing.T) {
 
 // P7.1: too many expressions, or nested too deep: by each list of parts, in a program and alone.
 func TestTooGreatForCheck(t *testing.T) {
-	for what, e := range tooGreat() {
+	for what, e := range testkit.TooGreat() {
 		exprIs(t, what, e, api.ErrLong)
 	}
-	for what, e := range greatest() {
+	for what, e := range testkit.Greatest() {
 		exprIs(t, what, e, api.OK)
 	}
-	half := tree(api.MaxNodes / 2)
+	half := testkit.Tree(api.MaxNodes / 2)
 	p := api.Prog{Cons: cons(), Binds: []api.Bind{{Name: "a", E: half}, {Name: "main", E: half}}}
 	checkIs(t, "just not too many in two bindings", p, api.OK)
 	p.Binds = append(p.Binds, api.Bind{Name: "z", E: number(1)})
 	checkIs(t, "one too many in three bindings", p, api.ErrLong)
-	if got := core.CheckExpr(p, tree(api.MaxNodes), nil); got != api.OK {
+	if got := core.CheckExpr(p, testkit.Tree(api.MaxNodes), nil); got != api.OK {
 		t.Errorf("CheckExpr counts what is not the expression's: %v", got)
 	}
 	deep := prog("a = 1", "main = 1")
-	deep.Binds[0].E = nested(api.MaxNest, number(1))
+	deep.Binds[0].E = testkit.Nested(api.MaxNest, number(1))
 	checkIs(t, "deep in one binding", deep, api.OK)
-	deep.Binds[0].E = nested(api.MaxNest+1, number(1))
+	deep.Binds[0].E = testkit.Nested(api.MaxNest+1, number(1))
 	checkIs(t, "too deep in one binding", deep, api.ErrLong)
 }

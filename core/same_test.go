@@ -7,6 +7,7 @@ import (
 
 	"thunkmill/api"
 	"thunkmill/core"
+	"thunkmill/testkit"
 )
 
 func sameIs(t *testing.T, a, b api.Expr, want bool) {
@@ -99,7 +100,7 @@ func TestSameProg(t *testing.T) {
 // P7.2: of expressions that are too great or too deep nothing is told.
 func TestTooGreat(t *testing.T) {
 	one := number(1)
-	for what, e := range tooGreat() {
+	for what, e := range testkit.TooGreat() {
 		if core.Same(e, e) || core.Same(e, one) || core.Same(one, e) {
 			t.Errorf("Same, %s", what)
 		}
@@ -123,7 +124,7 @@ func TestTooGreat(t *testing.T) {
 		}
 	}
 	free := variable("free")
-	for _, e := range []api.Expr{nested(api.MaxNest+1, free), {Kind: api.ExApp, Args: []api.Expr{free, tree(api.MaxNodes - 1)}}} {
+	for _, e := range []api.Expr{testkit.Nested(api.MaxNest+1, free), {Kind: api.ExApp, Args: []api.Expr{free, testkit.Tree(api.MaxNodes - 1)}}} {
 		if l := core.Free(e); len(l) != 0 {
 			t.Errorf("Free of what is too great: %q", l)
 		}
@@ -132,7 +133,7 @@ func TestTooGreat(t *testing.T) {
 
 // P7.2: of those that are just not too great all is told.
 func TestJustNotTooGreat(t *testing.T) {
-	for what, e := range greatest() {
+	for what, e := range testkit.Greatest() {
 		size := api.MaxNodes
 		if what[:4] == "deep" {
 			size = map[string]int{"deep by a lambda": api.MaxNest, "deep by a case": api.MaxNest + 1, "deep by a let": api.MaxNest + 1}[what]
@@ -155,12 +156,12 @@ func TestJustNotTooGreat(t *testing.T) {
 		}
 	}
 	free := variable("free")
-	for _, e := range []api.Expr{nested(api.MaxNest, free), {Kind: api.ExApp, Args: []api.Expr{free, tree(api.MaxNodes - 2)}}} {
+	for _, e := range []api.Expr{testkit.Nested(api.MaxNest, free), {Kind: api.ExApp, Args: []api.Expr{free, testkit.Tree(api.MaxNodes - 2)}}} {
 		if l := core.Free(e); !slices.Equal(l, []string{"free"}) {
 			t.Errorf("Free of what is just not too great: %q", l)
 		}
 	}
-	half := tree(api.MaxNodes / 2)
+	half := testkit.Tree(api.MaxNodes / 2)
 	p := api.Prog{Binds: []api.Bind{{Name: "a", E: half}, {Name: "b", E: half}}}
 	if !core.SameProg(p, p) || core.ProgText(p) == "" {
 		t.Errorf("a program that is just not too great")

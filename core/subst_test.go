@@ -94,7 +94,7 @@ func renamedAll(e api.Expr, name string) api.Expr {
 
 // P7.2: what comes may be greater and deeper than what Size tells of.
 func TestSubstThatComesTooGreat(t *testing.T) {
-	deep := core.Subst(nested(api.MaxNest, variable("y")), "y", read("(f 1)"))
+	deep := core.Subst(testkit.Nested(api.MaxNest, variable("y")), "y", read("(f 1)"))
 	for range api.MaxNest - 1 {
 		deep = deep.Args[0]
 	}
@@ -103,7 +103,7 @@ func TestSubstThatComesTooGreat(t *testing.T) {
 	}
 	x := variable("x")
 	wide := api.Expr{Kind: api.ExApp, Args: many(1000, x)}
-	for _, by := range []api.Expr{tree(api.MaxNodes / 1000), tree(api.MaxNodes/1000 + 1), tree(api.MaxNodes / 100), tree(api.MaxNodes)} {
+	for _, by := range []api.Expr{testkit.Tree(api.MaxNodes / 1000), testkit.Tree(api.MaxNodes/1000 + 1), testkit.Tree(api.MaxNodes / 100), testkit.Tree(api.MaxNodes)} {
 		got := core.Subst(wide, "x", by)
 		for i := range got.Args {
 			if i%333 < 2 && !core.Same(got.Args[i], by) {
