@@ -11,13 +11,7 @@ import (
 )
 
 // read is the expression of a text as the chapter tells it.
-func read(text string) api.Expr {
-	e := testkit.Core(text)
-	if e.Kind == 0 {
-		panic("no expression: " + text)
-	}
-	return e
-}
+func read(text string) api.Expr { return testkit.MustCore(text) }
 
 func con(name string, arity int, of string, tag int) api.Con {
 	return api.Con{Name: name, Arity: arity, Type: of, Tag: tag}

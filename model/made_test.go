@@ -39,7 +39,7 @@ func (s seen) check(t *testing.T, least int, kinds ...string) {
 func TestMadePrograms(t *testing.T) {
 	m, s := seeded(1), seen{}
 	for range 6000 {
-		p := m.program()
+		p := m.Program()
 		input, ended := m.pick("", "a", "abc", "\x00\xff", "bbbb"), m.Intn(2) == 0
 		whole := refRan(p, input, ended, 2000)
 		s.add(whole)
@@ -63,7 +63,7 @@ func TestMadePrograms(t *testing.T) {
 func TestMadeExpressions(t *testing.T) {
 	m, s := seeded(2), seen{}
 	for range 6000 {
-		p, x := m.byTable()
+		p, x := m.ByTable()
 		e := x.Expr(1 + m.Intn(6))
 		whole := refEvaluated(p, e, 500)
 		s.add(whole)
@@ -87,9 +87,8 @@ func TestMadeExpressions(t *testing.T) {
 func TestMadeValues(t *testing.T) {
 	m, s := seeded(3), map[string]int{}
 	for range 6000 {
-		p := m.program()
-		of := sort(m.Intn(int(sorts)))
-		e := read(m.expr(of, 1+m.Intn(6)))
+		p := m.Program()
+		e := m.Expr(m.anySort(), 1+m.Intn(6))
 		want := refEvaluated(p, e, 1000)
 		if want.Kind == api.EndValue {
 			s[want.Text]++
@@ -120,7 +119,7 @@ func goesOn(first, then api.Outcome, more bool) bool {
 func TestMoreInput(t *testing.T) {
 	m, needs := seeded(4), 0
 	for range 5000 {
-		p := m.program()
+		p := m.Program()
 		input := m.pick("", "a", "ab", "cab")
 		first := ran(t, p, input, false, 1500)
 		if first.Kind == api.EndNeed {

@@ -36,8 +36,8 @@ func whole(p api.Prog) api.Prog {
 func TestMemory(t *testing.T) {
 	m := seeded(7)
 	for range 1500 {
-		p := spared(m.program())
-		e := testkit.SpareExpr(read(m.expr(sort(m.Intn(int(sorts))), 1+m.Intn(4))))
+		p := spared(m.Program())
+		e := testkit.SpareExpr(m.Expr(m.anySort(), 1+m.Intn(4)))
 		room := []byte("abc!!")
 		wasP, wasE := whole(p), testkit.WholeExpr(e)
 		got, no := model.Run(p, room[:3], m.Intn(2) == 0, 300)
@@ -120,7 +120,7 @@ func TestAgain(t *testing.T) {
 	}
 	var l []call
 	for range 300 {
-		p := m.program()
+		p := m.Program()
 		o, _ := model.Run(p, []byte("ab"), true, 700)
 		l = append(l, call{p, o})
 	}

@@ -45,9 +45,9 @@ func keeping(n testkit.Namer, p api.Prog) api.Prog {
 func TestOtherNames(t *testing.T) {
 	m := seeded(6)
 	for i := range 4000 {
-		p := m.program()
+		p := m.Program()
 		if i%4 == 0 {
-			p, _ = m.byTable()
+			p, _ = m.ByTable()
 		}
 		input, ended, fuel := m.pick("", "a", "abc"), m.Intn(2) == 0, m.pick2(1500, 1500, 40, 9)
 		want := ran(t, p, input, ended, fuel)

@@ -1,10 +1,8 @@
 package model_test
 
 import (
-	"cmp"
 	"fmt"
 	"slices"
-	"strings"
 	"testing"
 
 	"thunkmill/api"
@@ -14,34 +12,11 @@ import (
 )
 
 // read is the expression of a text as chapter 7 tells it.
-func read(text string) api.Expr {
-	e := testkit.Core(text)
-	if e.Kind == 0 {
-		panic("no expression: " + text)
-	}
-	return e
-}
+func read(text string) api.Expr { return testkit.MustCore(text) }
 
-// cons are the built-in constructors and some others, as they may be.
-func cons() []api.Con {
-	return slices.Concat(
-		[]api.Con{{Name: "Red", Type: "A"}, {Name: "Green", Type: "A", Tag: 1}, {Name: "Blue", Arity: 1, Type: "A", Tag: 2}},
-		core.Builtin()[:4],
-		[]api.Con{{Name: "Pair", Arity: 2, Type: "Pair"}},
-		core.Builtin()[4:],
-	)
-}
+func cons() []api.Con { return testkit.Cons() }
 
-// prog is a program of lines name = expression, in any order.
-func prog(lines ...string) api.Prog {
-	p := api.Prog{Cons: cons()}
-	for _, line := range lines {
-		name, text, _ := strings.Cut(line, " = ")
-		p.Binds = append(p.Binds, api.Bind{Name: name, E: read(text)})
-	}
-	slices.SortFunc(p.Binds, func(a, b api.Bind) int { return cmp.Compare(a.Name, b.Name) })
-	return p
-}
+func prog(lines ...string) api.Prog { return testkit.Prog(lines...) }
 
 // mainIs is a program of main alone.
 func mainIs(text string) api.Prog { return prog("main = " + text) }

@@ -14,13 +14,7 @@ import (
 )
 
 // read is the expression of a text as chapter 7 tells it.
-func read(text string) api.Expr {
-	e := testkit.Core(text)
-	if e.Kind == 0 {
-		panic("no expression: " + text)
-	}
-	return e
-}
+func read(text string) api.Expr { return testkit.MustCore(text) }
 
 func variable(name string) api.Expr { return api.Expr{Kind: api.ExVar, Name: name} }
 

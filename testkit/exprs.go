@@ -20,6 +20,15 @@ func Core(text string) api.Expr {
 	return e
 }
 
+// MustCore is the expression of a text that must be one.
+func MustCore(text string) api.Expr {
+	e := Core(text)
+	if e.Kind == 0 {
+		panic("no expression: " + text)
+	}
+	return e
+}
+
 // reader is the words that are left.
 type reader struct {
 	words []string
