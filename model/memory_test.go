@@ -1,9 +1,7 @@
 package model_test
 
 import (
-	"bytes"
 	"reflect"
-	"slices"
 	"testing"
 
 	"thunkmill/api"
@@ -12,40 +10,20 @@ import (
 	"thunkmill/testkit"
 )
 
-// spared is a program in memory of its own whose lists have spare room, with marks in it.
-func spared(p api.Prog) api.Prog {
-	p.Cons = testkit.Spared(p.Cons, api.Con{Name: "a mark", Arity: -9})
-	p.Binds = testkit.Spared(p.Binds, api.Bind{Name: "a mark", E: api.Expr{Kind: -9}})
-	for i := range p.Binds {
-		p.Binds[i].E = testkit.SpareExpr(p.Binds[i].E)
-	}
-	return p
-}
-
-// whole is a program with all spare room as parts of it, in memory of its own.
-func whole(p api.Prog) api.Prog {
-	p.Cons = slices.Clone(p.Cons[:cap(p.Cons)])
-	p.Binds = slices.Clone(p.Binds[:cap(p.Binds)])
-	for i := range p.Binds {
-		p.Binds[i].E = testkit.WholeExpr(p.Binds[i].E)
-	}
-	return p
-}
-
 // Rule 4: what is handed in is left as it was, its spare room too.
 func TestMemory(t *testing.T) {
 	m := seeded(7)
 	for range 1500 {
-		p := spared(m.Program())
+		p := testkit.SpareProg(m.Program())
 		e := testkit.SpareExpr(m.Expr(m.anySort(), 1+m.Intn(4)))
 		room := []byte("abc!!")
-		wasP, wasE := whole(p), testkit.WholeExpr(e)
+		wasP, wasE := testkit.WholeProg(p), testkit.WholeExpr(e)
 		got, no := model.Run(p, room[:3], m.Intn(2) == 0, 300)
 		of, wrong := model.Eval(p, e, 300)
 		if no != api.OK || wrong != api.OK {
 			t.Fatalf("%s: errors %d, %d", core.ProgText(p), no, wrong)
 		}
-		if !reflect.DeepEqual(whole(p), wasP) || !reflect.DeepEqual(testkit.WholeExpr(e), wasE) || string(room) != "abc!!" {
+		if !reflect.DeepEqual(testkit.WholeProg(p), wasP) || !reflect.DeepEqual(testkit.WholeExpr(e), wasE) || string(room) != "abc!!" {
 			t.Fatalf("what was handed in is changed: %s, %s, %q", core.ProgText(p), core.Text(e), room)
 		}
 		first, second := told(got), told(of)
@@ -114,31 +92,13 @@ func TestSharedLists(t *testing.T) {
 // Rule 8, T6: what a call answers hangs on what it is given alone: it is the same again, whatever was called in between, and from whatever goroutine.
 func TestAgain(t *testing.T) {
 	m := seeded(8)
-	type call struct {
-		p    api.Prog
-		want api.Outcome
-	}
-	var l []call
+	var l []api.Prog
 	for range 300 {
-		p := m.Program()
-		o, _ := model.Run(p, []byte("ab"), true, 700)
-		l = append(l, call{p, o})
+		l = append(l, m.Program())
 	}
-	done := make(chan string)
-	for range 4 {
-		go func() {
-			wrong := ""
-			for _, x := range l {
-				if got, _ := model.Run(x.p, []byte("ab"), true, 700); !same(got, x.want) || !bytes.Equal(got.Out, x.want.Out) {
-					wrong = core.ProgText(x.p) + ": " + told(got) + ", want " + told(x.want)
-				}
-			}
-			done <- wrong
-		}()
-	}
-	for range 4 {
-		if wrong := <-done; wrong != "" {
-			t.Error(wrong)
-		}
+	for _, wrong := range testkit.Again(len(l), func(i int) string {
+		return core.ProgText(l[i]) + ": " + told(ran(t, l[i], "ab", true, 700))
+	}) {
+		t.Error(wrong)
 	}
 }

@@ -89,25 +89,7 @@ func TestSharedLists(t *testing.T) {
 // Rule 8, T6: what a call answers hangs on what it is given alone: it is the same again, whatever was called in between, and from whatever goroutine.
 func TestAgain(t *testing.T) {
 	l := handedIn()
-	var want [][]api.Occ
-	for _, e := range l {
-		want = append(want, all(t, e))
-	}
-	done := make(chan string)
-	for range 4 {
-		go func() {
-			wrong := ""
-			for i, e := range l {
-				if got, err := occur.All(e); !slices.Equal(got, want[i]) || err != api.OK {
-					wrong = occText(got) + ", want " + occText(want[i])
-				}
-			}
-			done <- wrong
-		}()
-	}
-	for range 4 {
-		if wrong := <-done; wrong != "" {
-			t.Error(wrong)
-		}
+	for _, wrong := range testkit.Again(len(l), func(i int) string { return occText(all(t, l[i])) }) {
+		t.Error(wrong)
 	}
 }

@@ -100,38 +100,22 @@ func TestAnswersStay(t *testing.T) {
 func TestProgramsMemory(t *testing.T) {
 	m := seeded(178)
 	for range 300 {
-		p := m.Program()
-		for i := range p.Binds {
-			p.Binds[i].E = testkit.SpareExpr(p.Binds[i].E)
-		}
-		p.Binds, p.Cons = testkit.Spared(p.Binds, api.Bind{Name: "a mark"}), testkit.Spared(p.Cons, api.Con{Name: "a mark"})
-		was := core.ProgText(p)
+		p := testkit.SpareProg(m.Program())
+		was := testkit.WholeProg(p)
 		for _, most := range []int{0, 3, 1000} {
-			got, _, err := simpl.Program(p, most)
-			want := core.ProgText(got)
-			if err != api.OK || core.ProgText(p) != was || p.Binds[:len(p.Binds)+1][len(p.Binds)].Name != "a mark" || p.Cons[:len(p.Cons)+1][len(p.Cons)].Name != "a mark" {
-				t.Fatalf("Program has changed what was handed in: error %d, %s, %s", err, was, core.ProgText(p))
-			}
 			memory := testkit.Memory{}
-			for i := range p.Binds {
-				memory.OwnExpr(&p.Binds[i].E)
+			memory.OwnProg(p)
+			got, _, err := simpl.Program(p, most)
+			text := core.ProgText(got)
+			if err != api.OK || !memory.OwnProg(got) {
+				t.Fatalf("Program of %s: error %d, %s has parts in memory that is not its own", core.ProgText(p), err, text)
 			}
-			for i := range got.Binds {
-				if !memory.OwnExpr(&got.Binds[i].E) || &got.Binds[i] == &p.Binds[i] {
-					t.Fatalf("Program of %s: %s has parts in memory that is not its own", was, want)
-				}
-				testkit.OverwriteExpr(&got.Binds[i].E)
-				got.Binds[i].Name = "overwritten"
+			testkit.OverwriteProg(got)
+			if !reflect.DeepEqual(testkit.WholeProg(p), was) {
+				t.Fatalf("what was handed in is changed, or heeds an answer: %s", core.ProgText(p))
 			}
-			for i := range got.Cons {
-				got.Cons[i] = api.Con{Name: "overwritten"}
-			}
-			if core.ProgText(p) != was {
-				t.Fatalf("what was handed in heeds an answer: %s, was %s", core.ProgText(p), was)
-			}
-			again, _, _ := simpl.Program(p, most)
-			if core.ProgText(again) != want {
-				t.Fatalf("answers heed one another: %s, want %s", core.ProgText(again), want)
+			if again, _, _ := simpl.Program(p, most); core.ProgText(again) != text {
+				t.Fatalf("answers heed one another: %s, want %s", core.ProgText(again), text)
 			}
 		}
 	}
@@ -154,26 +138,8 @@ func TestSharedLists(t *testing.T) {
 // Rule 8, T6: what a call answers hangs on what it is given alone: it is the same again, whatever was called in between, and from whatever goroutine.
 func TestAgain(t *testing.T) {
 	l := handedIn()
-	var want []string
-	for _, e := range l {
-		want = append(want, allTexts(t, e))
-	}
-	done := make(chan string)
-	for range 4 {
-		go func() {
-			wrong := ""
-			for i, e := range l {
-				if got := allTexts(t, e); got != want[i] {
-					wrong = got + ", want " + want[i]
-				}
-			}
-			done <- wrong
-		}()
-	}
-	for range 4 {
-		if wrong := <-done; wrong != "" {
-			t.Error(wrong)
-		}
+	for _, wrong := range testkit.Again(len(l), func(i int) string { return allTexts(t, l[i]) }) {
+		t.Error(wrong)
 	}
 }
 

@@ -225,43 +225,19 @@ func programErr(t *testing.T, what string, p api.Prog, most int, want api.Errno)
 
 // P17.2: of a program core.Check's error comes first.
 func TestProgramThatMayNotBe(t *testing.T) {
-	good := testkit.Prog("a = 1", "main = (#exit (#add 1 2))")
-	with := func(change func(p *api.Prog)) api.Prog {
-		p := testkit.Prog("a = 1", "main = (#exit (#add 1 2))")
-		change(&p)
-		return p
-	}
-	main := func(e api.Expr) api.Prog { return with(func(p *api.Prog) { p.Binds[1].E = e }) }
-	for what, c := range map[string]struct {
-		p    api.Prog
-		want api.Errno
-	}{
-		"nothing":                        {api.Prog{}, api.ErrArg},
-		"no main":                        {with(func(p *api.Prog) { p.Binds = p.Binds[:1] }), api.ErrMain},
-		"a binding twice":                {with(func(p *api.Prog) { p.Binds[0].Name = "main" }), api.ErrArg},
-		"bindings that fall":             {with(func(p *api.Prog) { p.Binds[0].Name = "z" }), api.ErrArg},
-		"no built-in ones":               {with(func(p *api.Prog) { p.Cons = nil }), api.ErrArg},
-		"a variable of no scope":         {main(read("(#exit nowhere)")), api.ErrScope},
-		"a variable of another let":      {main(read("((let x = 1 in x) x)")), api.ErrScope},
-		"a constructor that is none":     {main(read("(#exit (None))")), api.ErrShape},
-		"a constructor with fewer":       {main(read("(#exit (Cons 1))")), api.ErrShape},
-		"an alternative with more":       {main(read("(case (Nil) of Nil x -> x)")), api.ErrShape},
-		"a primitive with fewer":         {main(api.Expr{Kind: api.ExPrim, Name: "exit"}), api.ErrShape},
-		"a primitive that is none":       {main(api.Expr{Kind: api.ExPrim, Name: "none"}), api.ErrShape},
-		"what is nothing":                {main(api.Expr{}), api.ErrArg},
-		"too many":                       {main(testkit.Tree(api.MaxNodes)), api.ErrLong},
-		"too deep":                       {main(testkit.Nested(api.MaxNest+1, number(1))), api.ErrLong},
-		"its own part":                   {main(testkit.Cyclic()), api.ErrLong},
-		"no main, too great a binding":   {with(func(p *api.Prog) { p.Binds = []api.Bind{{Name: "a", E: testkit.Tree(maxSize + 1)}} }), api.ErrMain},
-		"no scope, too great a binding":  {with(func(p *api.Prog) { p.Binds[0].E, p.Binds[1].E = testkit.Tree(maxSize+1), variable("x") }), api.ErrScope},
-		"no scope, too deep a binding":   {with(func(p *api.Prog) { p.Binds[0].E, p.Binds[1].E = testkit.Nested(maxDeep+1, number(1)), variable("x") }), api.ErrScope},
-		"what is nothing, within itself": {main(api.Expr{Kind: api.ExApp, Args: list(number(1), api.Expr{})}), api.ErrArg},
-	} {
+	for what, x := range testkit.WrongProgs() {
 		for _, most := range []int{0, 10, -1, api.MaxRewrites + 1} {
-			programErr(t, what, c.p, most, c.want)
+			programErr(t, what, x.P, most, x.Err)
 		}
 	}
-	programIs(t, good, 5, testkit.Prog("a = 1", "main = (#exit 3)"), 1)
+	for what, e := range map[string]api.Expr{"great": testkit.Tree(maxSize + 1), "deep": testkit.Nested(maxDeep+1, number(1))} {
+		p := testkit.Prog("a = 1", "mainly = 1")
+		p.Binds[0].E = e
+		programErr(t, "no main, too "+what+" a binding", p, 10, api.ErrMain)
+		p.Binds[1].E = variable("x")
+		programErr(t, "no scope, too "+what+" a binding", p, 10, api.ErrScope)
+	}
+	programIs(t, testkit.Prog("a = 1", "main = (#exit (#add 1 2))"), 5, testkit.Prog("a = 1", "main = (#exit 3)"), 1)
 }
 
 // P17.2: a program one of whose bindings is too great or too deep, though the program is not.

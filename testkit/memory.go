@@ -53,6 +53,36 @@ func WholeExpr(e api.Expr) api.Expr {
 	return e
 }
 
+// SpareProg is a program in memory of its own whose lists have spare room, with marks in it.
+func SpareProg(p api.Prog) api.Prog {
+	p.Cons = Spared(p.Cons, api.Con{Name: mark, Arity: -9})
+	p.Binds = Spared(p.Binds, api.Bind{Name: mark, E: api.Expr{Kind: -9, Name: mark}})
+	for i := range p.Binds {
+		p.Binds[i].E = SpareExpr(p.Binds[i].E)
+	}
+	return p
+}
+
+// WholeProg is a program with all spare room as parts of it, in memory of its own.
+func WholeProg(p api.Prog) api.Prog {
+	p.Cons, p.Binds = slices.Clone(all(p.Cons)), slices.Clone(all(p.Binds))
+	for i := range p.Binds {
+		p.Binds[i].E = WholeExpr(p.Binds[i].E)
+	}
+	return p
+}
+
+// OverwriteProg changes all that can be reached of a program.
+func OverwriteProg(p api.Prog) {
+	for i := range all(p.Cons) {
+		all(p.Cons)[i] = api.Con{Name: overwritten, Arity: -5, Type: overwritten, Tag: -5}
+	}
+	for i := range all(p.Binds) {
+		OverwriteExpr(&all(p.Binds)[i].E)
+		all(p.Binds)[i].Name = overwritten
+	}
+}
+
 // WholeNode is a node with all spare room as parts of it, in memory of its own.
 func WholeNode(n api.Node) api.Node {
 	n.Kids = slices.Clone(all(n.Kids))
@@ -118,6 +148,18 @@ func (m Memory) OwnExpr(e *api.Expr) bool {
 	}
 	for i := range alts {
 		ok = m.own(&alts[i]) && m.ownNames(alts[i].Vars) && m.OwnExpr(&alts[i].E) && ok
+	}
+	return ok
+}
+
+// OwnProg tells the same of a program's lists.
+func (m Memory) OwnProg(p api.Prog) bool {
+	ok := true
+	for i := range all(p.Cons) {
+		ok = m.own(&all(p.Cons)[i]) && ok
+	}
+	for i := range all(p.Binds) {
+		ok = m.own(&all(p.Binds)[i]) && m.OwnExpr(&all(p.Binds)[i].E) && ok
 	}
 	return ok
 }
