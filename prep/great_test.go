@@ -12,15 +12,6 @@ import (
 	"thunkmill/testkit"
 )
 
-// many is what f makes of each number below n.
-func many[T any](n int, f func(i int) T) []T {
-	var l []T
-	for i := range n {
-		l = append(l, f(i))
-	}
-	return l
-}
-
 func name(i int) string { return fmt.Sprint("x", i) }
 
 func lambda(body api.Expr, params ...string) api.Expr {
@@ -30,16 +21,7 @@ func lambda(body api.Expr, params ...string) api.Expr {
 // layers is an expression in so many lambdas of as many names as there may be, all of them unlike.
 func layers(n int, e api.Expr) api.Expr {
 	for i := range n {
-		e = lambda(e, many(api.MaxParams, func(j int) string { return name(i*api.MaxParams + j) })...)
-	}
-	return e
-}
-
-// wide is a choice of many expressions.
-func wide(l []api.Expr) api.Expr {
-	e := api.Expr{Kind: api.ExCase, Args: list(number(1))}
-	for i := range l {
-		e.Alts = append(e.Alts, api.Alt{Kind: api.AltInt, Num: int64(i), E: l[i]})
+		e = lambda(e, testkit.Many(api.MaxParams, func(j int) string { return name(i*api.MaxParams + j) })...)
 	}
 	return e
 }
@@ -49,31 +31,31 @@ func greatScopes() map[string]func() api.Expr {
 	const half = api.MaxNodes/4 - 1000 // each is two at least
 	return map[string]func() api.Expr{
 		"a great let of lambdas": func() api.Expr {
-			return api.Expr{Kind: api.ExLet, Args: list(number(1)), Binds: many(half, func(i int) api.Bind {
+			return api.Expr{Kind: api.ExLet, Args: list(number(1)), Binds: testkit.Many(half, func(i int) api.Bind {
 				return api.Bind{Name: name(i), E: lambda(variable(name(half-1-i)), "y")}
 			})}
 		},
 		"lets in lets": func() api.Expr {
 			e := number(1)
 			for i := range 2000 {
-				e = api.Expr{Kind: api.ExLet, Args: list(e), Binds: many(250, func(j int) api.Bind {
+				e = api.Expr{Kind: api.ExLet, Args: list(e), Binds: testkit.Many(250, func(j int) api.Bind {
 					return api.Bind{Name: name(j), E: lambda(variable(name((i+j)%250)), "y")}
 				})}
 			}
 			return e
 		},
 		"many variables within many names": func() api.Expr {
-			return layers(4000, wide(many(2*half-4000, func(i int) api.Expr { return variable(name(i % 128000)) })))
+			return layers(4000, testkit.Wide(testkit.Many(2*half-4000, func(i int) api.Expr { return variable(name(i % 128000)) })))
 		},
 		"many lambdas within many names": func() api.Expr {
-			return layers(4000, wide(many(half-4000, func(i int) api.Expr { return lambda(variable(name(i%128000)), "y") })))
+			return layers(4000, testkit.Wide(testkit.Many(half-4000, func(i int) api.Expr { return lambda(variable(name(i%128000)), "y") })))
 		},
 		"many lambdas within some names": func() api.Expr {
-			return layers(4, wide(many(half, func(i int) api.Expr { return lambda(variable(name(i%128)), "y") })))
+			return layers(4, testkit.Wide(testkit.Many(half, func(i int) api.Expr { return lambda(variable(name(i%128)), "y") })))
 		},
 		"many lambdas of all names": func() api.Expr {
-			names := many(api.MaxParams, name)
-			return wide(many(half/8, func(i int) api.Expr { return lambda(variable(names[i%32]), names...) }))
+			names := testkit.Many(api.MaxParams, name)
+			return testkit.Wide(testkit.Many(half/8, func(i int) api.Expr { return lambda(variable(names[i%32]), names...) }))
 		},
 	}
 }
@@ -101,9 +83,9 @@ func TestManyBound(t *testing.T) {
 	t.Parallel()
 	nils := slices.Repeat(list(read("(Nil)")), api.MaxParams)
 	for what, e := range map[string]api.Expr{
-		"many applications":  wide(many(api.MaxNodes/68-1, func(int) api.Expr { return application(append(list(number(1)), nils...)...) })),
+		"many applications":  testkit.Wide(testkit.Many(api.MaxNodes/68-1, func(int) api.Expr { return application(append(list(number(1)), nils...)...) })),
 		"many arguments":     testkit.Tree(api.MaxNodes * 10 / 11),
-		"many constructors":  wide(many(api.MaxNodes/4-1, func(int) api.Expr { return read("(Blue (Nil))") })),
+		"many constructors":  testkit.Wide(testkit.Many(api.MaxNodes/4-1, func(int) api.Expr { return read("(Blue (Nil))") })),
 		"deep constructors":  deepIn(api.MaxNest-2, func(e api.Expr) api.Expr { return api.Expr{Kind: api.ExCon, Name: "Blue", Args: list(e)} }),
 		"deep lambdas bound": deepIn(api.MaxNest/3, func(e api.Expr) api.Expr { return application(number(1), lambda(e, "x")) }),
 	} {

@@ -1,8 +1,6 @@
 package prep_test
 
 import (
-	"slices"
-	"strconv"
 	"testing"
 
 	"thunkmill/api"
@@ -11,41 +9,11 @@ import (
 	"thunkmill/testkit"
 )
 
-// flat is a prepared expression of so many, from 3 on. Equal parts are one in memory.
-func flat(n int) api.Expr {
-	e := api.Expr{Kind: api.ExCase, Args: list(number(1))}
-	atoms := slices.Repeat(list(number(2)), 33)
-	for left := n - 2; left > 0; {
-		part := number(3)
-		switch {
-		case left == 2:
-			part = read("(#ord 1)")
-		case left > 2:
-			part = application(atoms[:min(left-1, 33)]...)
-		}
-		e.Alts = append(e.Alts, api.Alt{Kind: api.AltInt, Num: int64(left), E: part})
-		left -= core.Size(part)
-	}
-	return e
-}
-
 // together are expressions as a program's bindings, the last one as main.
 func together(l ...api.Expr) api.Prog {
-	p := api.Prog{Cons: cons()}
-	for i, e := range l {
-		p.Binds = append(p.Binds, api.Bind{Name: "b" + strconv.Itoa(i), E: e})
-	}
-	p.Binds[len(l)-1].Name = "main"
+	p := testkit.Together(l...)
+	p.Cons = cons()
 	return p
-}
-
-// sizeOf is how many expressions a program has, which may be too many for one.
-func sizeOf(p api.Prog) int {
-	n := 0
-	for _, b := range p.Binds {
-		n += core.Size(b.E)
-	}
-	return n
 }
 
 // growing are expressions that have more parts once they are prepared, or are nested deeper, and some that do not.
@@ -66,19 +34,19 @@ func TestTooMany(t *testing.T) {
 		e := read(text)
 		made := 0
 		grown := core.Size(refPrep(e, &made))
-		most := flat(api.MaxNodes - grown)
-		if q, err := prep.Prep(together(e, most)); err != api.OK || sizeOf(q) != api.MaxNodes {
-			t.Errorf("Prep of %s and others: error %d, %d expressions", text, err, sizeOf(q))
+		most := testkit.Flat(api.MaxNodes - grown)
+		if q, err := prep.Prep(together(e, most)); err != api.OK || testkit.SizeOf(q) != api.MaxNodes {
+			t.Errorf("Prep of %s and others: error %d, %d expressions", text, err, testkit.SizeOf(q))
 		}
-		refuses(t, text, together(e, flat(api.MaxNodes-grown+1)), api.ErrLong)
-		refuses(t, text+", the last one", together(flat(api.MaxNodes-grown+1), e), api.ErrLong)
+		refuses(t, text, together(e, testkit.Flat(api.MaxNodes-grown+1)), api.ErrLong)
+		refuses(t, text+", the last one", together(testkit.Flat(api.MaxNodes-grown+1), e), api.ErrLong)
 	}
 }
 
 // P18.1: as many as there may be, each list of parts; what need not be bound stays.
 func TestAsManyAsMayBe(t *testing.T) {
 	t.Parallel()
-	for what, e := range map[string]api.Expr{"flat": flat(api.MaxNodes), "deep": testkit.Nested(api.MaxNest, number(1)), "flat and deep": testkit.Nested(api.MaxNest-2, flat(api.MaxNodes-api.MaxNest+3))} {
+	for what, e := range map[string]api.Expr{"flat": testkit.Flat(api.MaxNodes), "deep": testkit.Nested(api.MaxNest, number(1)), "flat and deep": testkit.Nested(api.MaxNest-2, testkit.Flat(api.MaxNodes-api.MaxNest+3))} {
 		p := together(e)
 		if q := prepared(t, p); !core.SameProg(p, q) {
 			t.Errorf("Prep, %s: it is another one", what)
@@ -89,8 +57,8 @@ func TestAsManyAsMayBe(t *testing.T) {
 		// Each argument that is no atom takes two more at most.
 		third, made := testkit.Great(api.MaxNodes / 3)[what], 0
 		q := prepared(t, together(third))
-		if want := core.Size(refPrep(third, &made)); sizeOf(q) != want {
-			t.Errorf("Prep, %s: %d expressions, want %d", what, sizeOf(q), want)
+		if want := core.Size(refPrep(third, &made)); testkit.SizeOf(q) != want {
+			t.Errorf("Prep, %s: %d expressions, want %d", what, testkit.SizeOf(q), want)
 		}
 	}
 }

@@ -158,8 +158,8 @@ func TestNormalOfGreat(t *testing.T) {
 		}
 	}
 	for n, want := range map[int]bool{api.MaxNodes - 1: true, api.MaxNodes: true, api.MaxNodes + 1: false} {
-		normalIs(t, "flat", flat(n), want)
-		normalIs(t, "flat within a lambda", testkit.Nested(2, flat(n-1)), want)
-		atomIs(t, "a variable with parts", api.Expr{Kind: api.ExVar, Args: list(flat(n - 1))}, want)
+		normalIs(t, "flat", testkit.Flat(n), want)
+		normalIs(t, "flat within a lambda", testkit.Nested(2, testkit.Flat(n-1)), want)
+		atomIs(t, "a variable with parts", api.Expr{Kind: api.ExVar, Args: list(testkit.Flat(n - 1))}, want)
 	}
 }

@@ -16,15 +16,6 @@ func let(body api.Expr, binds ...api.Bind) api.Expr {
 
 func application(l ...api.Expr) api.Expr { return api.Expr{Kind: api.ExApp, Args: l} }
 
-// many is what f makes of each number below n.
-func many[T any](n int, f func(i int) T) []T {
-	var l []T
-	for i := range n {
-		l = append(l, f(i))
-	}
-	return l
-}
-
 // spread is a constructor with many parts, which may be more than one has.
 func spread(l []api.Expr) api.Expr { return api.Expr{Kind: api.ExCon, Name: "Any", Args: l} }
 
@@ -50,28 +41,28 @@ func greatPasses() map[string]func() greatPass {
 	return map[string]func() greatPass{
 		"dead bindings, the last one ahead": func() greatPass {
 			// Each one stands in the one behind it.
-			l := many(6600, func(i int) api.Bind {
+			l := testkit.Many(6600, func(i int) api.Bind {
 				return api.Bind{Name: name(i), E: application(f, variable(name(max(0, i-1))))}
 			})
 			l[0].E = read("(f 1)")
 			return greatPass{let(number(1), l...), 6600}
 		},
 		"atoms in one let": func() greatPass {
-			l := many(9999, func(i int) api.Bind { return api.Bind{Name: name(i), E: variable("f")} })
-			return greatPass{let(spread(many(9999, func(i int) api.Expr { return variable(name(i)) })), l...), 9999}
+			l := testkit.Many(9999, func(i int) api.Bind { return api.Bind{Name: name(i), E: variable("f")} })
+			return greatPass{let(spread(testkit.Many(9999, func(i int) api.Expr { return variable(name(i)) })), l...), 9999}
 		},
 		"atoms in a row": func() greatPass {
 			// Each one is what the one ahead is.
-			l := many(9999, func(i int) api.Bind { return api.Bind{Name: name(i), E: variable(name(i - 1))} })
+			l := testkit.Many(9999, func(i int) api.Bind { return api.Bind{Name: name(i), E: variable(name(i - 1))} })
 			l[0].E = f
-			return greatPass{let(spread(many(9999, func(i int) api.Expr { return variable(name(i)) })), l...), 9999}
+			return greatPass{let(spread(testkit.Many(9999, func(i int) api.Expr { return variable(name(i)) })), l...), 9999}
 		},
 		"lets in lets": func() greatPass {
 			return greatPass{layers(990, f, func(i int, e api.Expr) api.Expr { return let(e, api.Bind{Name: "x", E: read("(f x)")}) }), 0}
 		},
 		"once in once": func() greatPass {
 			return greatPass{layers(990, read("(f x0)"), func(i int, e api.Expr) api.Expr {
-				parts := append(many(17, func(int) api.Expr { return f }), variable(name(i+1)))
+				parts := append(testkit.Many(17, func(int) api.Expr { return f }), variable(name(i+1)))
 				return let(e, api.Bind{Name: name(i), E: spread(parts)})
 			}), 990}
 		},
@@ -82,7 +73,7 @@ func greatPasses() map[string]func() greatPass {
 			}), 240}
 		},
 		"calls": func() greatPass {
-			return greatPass{spread(many(4999, func(int) api.Expr { return read("((\\ x -> x) f)") })), 9998}
+			return greatPass{spread(testkit.Many(4999, func(int) api.Expr { return read("((\\ x -> x) f)") })), 9998}
 		},
 		"calls in calls": func() greatPass {
 			return greatPass{layers(490, f, func(i int, e api.Expr) api.Expr { return application(read("(\\ x -> (x x))"), e) }), -1}
@@ -93,7 +84,7 @@ func greatPasses() map[string]func() greatPass {
 			}), -1}
 		},
 		"sums": func() greatPass {
-			return greatPass{spread(many(6666, func(int) api.Expr { return read("(#add 1 2)") })), 6666}
+			return greatPass{spread(testkit.Many(6666, func(int) api.Expr { return read("(#add 1 2)") })), 6666}
 		},
 		"sums in sums": func() greatPass {
 			return greatPass{application(f, growing(990), growing(990), growing(990), growing(990), growing(990), growing(990), growing(990), growing(990), growing(990), growing(990)), 9900}
@@ -103,7 +94,7 @@ func greatPasses() map[string]func() greatPass {
 				if i == 0 {
 					return e
 				}
-				return application(append(list(e), many(16, func(int) api.Expr { return f })...)...)
+				return application(append(list(e), testkit.Many(16, func(int) api.Expr { return f })...)...)
 			}), 499}
 		},
 		"cases in cases": func() greatPass {
@@ -113,7 +104,7 @@ func greatPasses() map[string]func() greatPass {
 		},
 		"cases of one in cases of one": func() greatPass {
 			return greatPass{layers(400, f, func(i int, e api.Expr) api.Expr {
-				return api.Expr{Kind: api.ExCase, Args: list(e), Alts: []api.Alt{{Kind: api.AltElse, Vars: []string{"x"}, E: spread(many(40, func(int) api.Expr { return variable("x") }))}}}
+				return api.Expr{Kind: api.ExCase, Args: list(e), Alts: []api.Alt{{Kind: api.AltElse, Vars: []string{"x"}, E: spread(testkit.Many(40, func(int) api.Expr { return variable("x") }))}}}
 			}), -1}
 		},
 		"lets in cases": func() greatPass {
@@ -137,7 +128,7 @@ func greatPasses() map[string]func() greatPass {
 		},
 		"nothing at all": func() greatPass { return greatPass{testkit.Tree(maxSize), -1} },
 		"one at the end": func() greatPass {
-			return greatPass{spread(append(many(19990, func(int) api.Expr { return f }), read("(#add 1 2)"))), 1}
+			return greatPass{spread(append(testkit.Many(19990, func(int) api.Expr { return f }), read("(#add 1 2)"))), 1}
 		},
 	}
 }

@@ -150,7 +150,7 @@ func TestPassMakesRoom(t *testing.T) {
 	passIs(t, withX(text, testkit.Tree(maxSize-around(text))), 2, "(f 1 (case z of 1 -> (case y of _ -> (5 5 5)); _ -> (case y of _ -> (5 5 5))))", 2)
 	// Each of them grows from 17 to 30.
 	grows := read("(case (case z of 1 -> y; _ -> y) of _ -> (f 1 2 3 4 5 6 7 8 9 10))")
-	e := spread(many(1100, func(int) api.Expr { return grows }))
+	e := spread(testkit.Many(1100, func(int) api.Expr { return grows }))
 	want := (maxSize - core.Size(e)) / 13
 	if got, n := passed(t, e, api.MaxRewrites); n != want || core.Size(got) != core.Size(e)+13*want {
 		t.Errorf("%d rewritings instead of %d, %d expressions", n, want, core.Size(got))

@@ -2,9 +2,11 @@ package testkit
 
 import (
 	"maps"
+	"slices"
 	"strconv"
 
 	"thunkmill/api"
+	"thunkmill/core"
 )
 
 func number(n int64) api.Expr { return api.Expr{Kind: api.ExInt, Num: n} }
@@ -67,6 +69,62 @@ func ManyBinds(n int) api.Expr {
 		e.Binds = append(e.Binds, api.Bind{Name: "n" + strconv.Itoa(i), E: g.of(size)})
 	}
 	return e
+}
+
+// Wide is a choice of many expressions.
+func Wide(l []api.Expr) api.Expr {
+	e := api.Expr{Kind: api.ExCase, Args: []api.Expr{number(1)}}
+	for i := range l {
+		e.Alts = append(e.Alts, api.Alt{Kind: api.AltInt, Num: int64(i), E: l[i]})
+	}
+	return e
+}
+
+// Flat is an expression in normal form of so many, from 3 on. Equal parts are one in memory.
+func Flat(n int) api.Expr {
+	var parts []api.Expr
+	atoms := slices.Repeat([]api.Expr{number(2)}, 33)
+	for left := n - 2; left > 0; {
+		size := min(left, 34)
+		part := number(3)
+		switch {
+		case size == 2:
+			part = Core("(#ord 1)")
+		case size > 2:
+			part = api.Expr{Kind: api.ExApp, Args: atoms[:size-1]}
+		}
+		parts = append(parts, part)
+		left -= size
+	}
+	return Wide(parts)
+}
+
+// Together are expressions as a program's bindings, the last one as main.
+func Together(l ...api.Expr) api.Prog {
+	p := api.Prog{Cons: Cons()}
+	for i, e := range l {
+		p.Binds = append(p.Binds, api.Bind{Name: "b" + strconv.Itoa(i), E: e})
+	}
+	p.Binds[len(l)-1].Name = "main"
+	return p
+}
+
+// Many is what f makes of each number below n.
+func Many[T any](n int, f func(i int) T) []T {
+	var l []T
+	for i := range n {
+		l = append(l, f(i))
+	}
+	return l
+}
+
+// SizeOf is how many expressions a program has, which may be too many for one.
+func SizeOf(p api.Prog) int {
+	n := 0
+	for _, b := range p.Binds {
+		n += core.Size(b.E)
+	}
+	return n
 }
 
 // Cyclic is an expression that is its own part.
