@@ -58,7 +58,14 @@ func chains() map[string]great {
 		return api.Expr{Kind: api.ExLet, Args: list(e), Binds: testkit.Many(calls, func(i int) api.Bind { return api.Bind{Name: z[i], E: number(1)} })}
 	}
 	call := func(name string) api.Expr { return application(variable(name), number(1)) }
+	calling := func(e api.Expr, name string) api.Expr {
+		return letOf(name, e, lambda(call(name), name+"x"))
+	}
 	return map[string]great{
+		"lets as a function":             {letOf("f", lambda(number(1), "x"), application(chain(variable("f"), inBody(one)), number(1))), n, n + 1},
+		"lets around a right side":       {letOf("f", chain(lambda(number(1), "x"), inBody(one)), call1("f")), n, n + 1},
+		"lets in right sides of lets":    {chain(lambda(number(1), "x"), calling), 1, n},
+		"their applications, too":        {application(chain(lambda(plain, "x"), calling), number(1)), 1, n},
 		"called in a great body":         {chain(called, inBody(one)), n, n},
 		"around a great body":            {chain(plain, inBody(one)), n, n},
 		"around a great body, they stay": {chain(plain, func(e api.Expr, name string) api.Expr { return letOf(name, number(1), e) }), 0, 0},

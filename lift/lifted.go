@@ -113,11 +113,8 @@ func (l *lifter) args(e *api.Expr, in renamed) []api.Expr {
 
 // callee is the lifted function that an expression applies. One that is itself a free variable of what it stands in comes from there.
 func (l *lifter) callee(e *api.Expr, in renamed) (function, bool) {
-	if !isCall(e) {
-		return function{}, false
-	}
-	name := e.Args[0].Name
-	if _, handed := in[name]; handed {
+	name, ok := l.applied(e)
+	if _, handed := in[name]; handed || !ok {
 		return function{}, false
 	}
 	return l.of(name)

@@ -70,3 +70,50 @@ func TestNotGoneIntoAgain(t *testing.T) {
 		}
 	}
 }
+
+// P19.1: what stands around a let that was lifted is held to the words as it stands then; Count tells of what stands there at first.
+func TestAsItStandsThen(t *testing.T) {
+	for _, x := range []struct {
+		count      int
+		from, want string
+		lines      []string
+	}{
+		// A right side becomes a lambda.
+		{1, "(let f = (let e = (\\ x -> x) in (\\ y -> y)) in (f 1))", "(~2 1)", []string{"~1 = (\\ x -> x)", "~2 = (\\ y -> y)"}},
+		{1, "(\\ z -> (let f = (let e = (\\ x -> z) in (\\ y -> (e y))) in (f 1)))", "(\\ z -> (~2 z 1))", []string{"~1 = (\\ a x -> a)", "~2 = (\\ a y -> (~1 a y))"}},
+		{1, "(let f = (let e = (let d = (\\ x -> x) in (\\ y -> (d y))) in (\\ z -> (e z))) in (f 1))", "(~3 1)", []string{"~1 = (\\ x -> x)", "~2 = (\\ y -> (~1 y))", "~3 = (\\ z -> (~2 z))"}},
+		{2, "(let f = (let e = (\\ x -> x) in (let d = (\\ y -> (e y)) in (\\ z -> (d z)))) in (f 1))", "(let f = (let e = (\\ x -> x) in (\\ z -> (~1 e z))) in (f 1))", []string{"~1 = (\\ a y -> (a y))"}},
+		{2, "(let f = (let e = (\\ x -> x) in (let d = (\\ y -> y) in (\\ z -> (d z)))) in (f 1))", "(~3 1)", []string{"~1 = (\\ y -> y)", "~2 = (\\ x -> x)", "~3 = (\\ z -> (~1 z))"}},
+		{2, "(let f = (let e = (\\ x -> x) in (\\ y -> (f2 y))); f2 = (let d = (\\ z -> z) in (\\ w -> (f w))) in (f 1))", "(~3 1)", []string{"~1 = (\\ x -> x)", "~2 = (\\ z -> z)", "~3 = (\\ y -> (~4 y))", "~4 = (\\ w -> (~3 w))"}},
+		{1, "(let f = (let e = (\\ x -> x) in (\\ y -> y)) in 1)", "1", []string{"~1 = (\\ x -> x)", "~2 = (\\ y -> y)"}},
+		// It does not, or does not fit.
+		{1, "(let f = (let e = (\\ x -> x) in (\\ y z -> y)) in (f 1))", "(let f = (\\ y z -> y) in (f 1))", []string{"~1 = (\\ x -> x)"}},
+		{1, "(let f = (let e = (\\ x -> x) in (e 1)) in (f 1))", "(let f = (~1 1) in (f 1))", []string{"~1 = (\\ x -> x)"}},
+		{1, "(let f = (let e = (\\ x -> x) in h) in (f 1))", "(let f = h in (f 1))", []string{"~1 = (\\ x -> x)"}},
+		{0, "(let f = (let e = 7 in (\\ y -> y)) in (f 1))", "(let f = (let e = 7 in (\\ y -> y)) in (f 1))", nil},
+		{1, "(let f = (let e = 7 in (let d = (\\ x -> x) in (\\ y -> y))) in (f 1))", "(let f = (let e = 7 in (\\ y -> y)) in (f 1))", []string{"~1 = (\\ x -> x)"}},
+		{1, "(let f = (let d = (\\ x -> x) in (let e = 7 in (\\ y -> y))) in (f 1))", "(let f = (let e = 7 in (\\ y -> y)) in (f 1))", []string{"~1 = (\\ x -> x)"}},
+		{1, "(let f = (let e = (\\ x -> x) in (\\ y -> y)) in f)", "(let f = (\\ y -> y) in f)", []string{"~1 = (\\ x -> x)"}},
+		// The function of an application becomes a name.
+		{1, "(let f = (\\ y -> y) in ((let e = (\\ x -> x) in f) 1))", "(~2 1)", []string{"~1 = (\\ x -> x)", "~2 = (\\ y -> y)"}},
+		{1, "(\\ z -> (let f = (\\ y -> z) in ((let e = (\\ x -> x) in f) 1)))", "(\\ z -> (~2 z 1))", []string{"~1 = (\\ x -> x)", "~2 = (\\ a y -> a)"}},
+		{2, "(\\ z -> (let f = (\\ y -> z) in ((let e = (\\ x -> x) in (let d = (\\ w -> w) in f)) z)))", "(\\ z -> (~3 z z))", []string{"~1 = (\\ w -> w)", "~2 = (\\ x -> x)", "~3 = (\\ a y -> a)"}},
+		{1, "(\\ z -> (let f = (\\ y -> ((let e = (\\ x -> z) in f) y)) in (f 1)))", "(\\ z -> (~2 1))", []string{"~1 = (\\ a x -> a)", "~2 = (\\ y -> (~2 y))"}},
+		{1, "((let e = (\\ x -> x) in h) 1)", "(h 1)", []string{"~1 = (\\ x -> x)"}},
+		{1, "(\\ h2 -> ((let e = (\\ x -> (h2 x)) in h2) 1))", "(\\ h2 -> (h2 1))", []string{"~1 = (\\ a x -> (a x))"}},
+		{1, "(let f = (\\ y -> y) in ((let e = (let d = (\\ x -> x) in (\\ w -> w)) in f) 1))", "(~3 1)", []string{"~1 = (\\ x -> x)", "~2 = (\\ w -> w)", "~3 = (\\ y -> y)"}},
+		// It does not, or its let does not fit.
+		{1, "(let f = (\\ y w -> y) in ((let e = (\\ x -> x) in f) 1))", "(let f = (\\ y w -> y) in (f 1))", []string{"~1 = (\\ x -> x)"}},
+		{0, "(let f = (\\ y -> y) in ((let e = 7 in f) 1))", "(let f = (\\ y -> y) in ((let e = 7 in f) 1))", nil},
+		{1, "(let f = (\\ y -> y) in ((let d = (\\ x -> x) in (let e = 7 in f)) 1))", "(let f = (\\ y -> y) in ((let e = 7 in f) 1))", []string{"~1 = (\\ x -> x)"}},
+		{0, "((let f = (\\ y -> y) in f) 1)", "((let f = (\\ y -> y) in f) 1)", nil},
+		{1, "((let f = (\\ y -> y) in (let e = (\\ x -> x) in f)) 1)", "((let f = (\\ y -> y) in f) 1)", []string{"~1 = (\\ x -> x)"}},
+		{1, "(let f = (\\ y -> y) in ((let e = (\\ x -> (f x)) in f) 1))", "(~2 1)", []string{"~1 = (\\ a x -> (a x))", "~2 = (\\ y -> y)"}},
+		{2, "(let f = (\\ y -> y) in ((let e = (\\ x -> x) in (f 1)) 2))", "((~2 1) 2)", []string{"~1 = (\\ x -> x)", "~2 = (\\ y -> y)"}},
+		// Both at once.
+		{2, "(\\ z -> (let f = (let e = (\\ x -> x) in (\\ y -> (e z))) in ((let d = (\\ w -> w) in f) 1)))", "(\\ z -> (~3 z 1))", []string{"~1 = (\\ x -> x)", "~2 = (\\ w -> w)", "~3 = (\\ a y -> (~1 a))"}},
+	} {
+		lifts(t, x.from, x.want, x.lines...)
+		counts(t, x.from, x.count)
+	}
+}

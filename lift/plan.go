@@ -98,9 +98,48 @@ func (p *plan) of(name string) (function, bool) {
 
 // lifts tells whether an expression is a let that is lifted.
 func (p *plan) lifts(e *api.Expr) bool {
-	if e.Kind != api.ExLet {
+	if e.Kind != api.ExLet || len(e.Binds) == 0 {
 		return false
 	}
 	_, ok := p.of(e.Binds[0].Name)
 	return ok
+}
+
+// stands is what stands where an expression does: a let that is lifted is its body.
+func (p *plan) stands(e *api.Expr) *api.Expr {
+	for p.lifts(e) {
+		e = &e.Args[0]
+	}
+	return e
+}
+
+// applied tells the name that an expression applies, if it is the application of one.
+func (p *plan) applied(e *api.Expr) (name string, ok bool) {
+	if e.Kind != api.ExApp || len(e.Args) == 0 {
+		return "", false
+	}
+	f := p.stands(&e.Args[0])
+	return f.Name, f.Kind == api.ExVar
+}
+
+// occurrence tells the name that stands at an expression. An application of a name is told beside the name itself, which is an expression, too.
+func (p *plan) occurrence(e *api.Expr) (name string, u use, ok bool) {
+	if e.Kind == api.ExVar {
+		return e.Name, use{places: 1}, true
+	}
+	name, ok = p.applied(e)
+	n := len(e.Args) - 1
+	return name, use{calls: 1, least: n, most: n}, ok
+}
+
+// mayLift tells whether a let is known and fits, of which this is how its names stand, and how many free variables it has.
+func (p *plan) mayLift(l []api.Bind, found uses, free int) bool {
+	for i := range l {
+		f, u := p.stands(&l[i].E), found[l[i].Name]
+		known := f.Kind == api.ExLam && u.places == u.calls && (u.calls == 0 || u.least >= len(f.Params))
+		if !known || max(len(f.Params), u.most)+free > api.MaxParams {
+			return false
+		}
+	}
+	return true
 }

@@ -12,15 +12,16 @@ type choose func(l []api.Bind, own uses, free []string) bool
 
 // searched is what is there when a program is searched.
 type searched struct {
-	binds  map[string]struct{} // the names of the program's Binds
+	*plan
+	own    map[string]struct{} // the names of the program's Binds
 	choose choose
 }
 
-// search goes through a prepared program's Binds, and what is chosen to be lifted counts as lifted for what comes behind it.
-func search(l []api.Bind, by choose) {
-	s := &searched{binds: map[string]struct{}{}, choose: by}
+// search goes through a prepared program's Binds. What is chosen to be lifted, and is so by the plan, counts as lifted for what comes behind it, and for what is around it.
+func search(l []api.Bind, as *plan, by choose) {
+	s := &searched{plan: as, own: map[string]struct{}{}, choose: by}
 	for i := range l {
-		s.binds[l[i].Name] = struct{}{}
+		s.own[l[i].Name] = struct{}{}
 	}
 	for i := range l {
 		visit(&l[i].E, (&piece{searched: s}).at)
@@ -35,13 +36,15 @@ type piece struct {
 }
 
 func (p *piece) at(e *api.Expr) (within bool) {
-	if e.Kind == api.ExLet {
+	switch e.Kind {
+	case api.ExLet:
 		p.let(e)
 		return false
+	case api.ExApp:
+		p.application(e)
+		return false
 	}
-	if name, u, ok := occurrence(e); ok {
-		p.add(name, u)
-	}
+	p.addAt(e)
 	p.bound = append(p.bound, e.Params...)
 	for i := range e.Alts {
 		p.bound = append(p.bound, e.Alts[i].Vars...)
@@ -49,8 +52,22 @@ func (p *piece) at(e *api.Expr) (within bool) {
 	return true
 }
 
+// application goes through the parts first: a let that is lifted may leave a name that is applied then.
+func (p *piece) application(e *api.Expr) {
+	for i := range e.Args {
+		visit(&e.Args[i], p.at)
+	}
+	p.addAt(e)
+}
+
+func (p *piece) addAt(e *api.Expr) {
+	if name, u, ok := p.occurrence(e); ok {
+		p.add(name, u)
+	}
+}
+
 func (p *piece) add(name string, u use) {
-	if _, there := p.binds[name]; there {
+	if _, there := p.own[name]; there {
 		return
 	}
 	if p.found == nil {
@@ -75,7 +92,7 @@ func (p *piece) let(e *api.Expr) {
 	visit(&e.Args[0], body.at)
 	inRight, inBody := right.free(), body.free()
 	own, calls := takeOwn(e.Binds, inRight, inBody)
-	if !mayLift(e.Binds, own, len(inRight)) || !p.choose(e.Binds, own, slices.Sorted(maps.Keys(inRight))) {
+	if !p.mayLift(e.Binds, own, len(inRight)) || !p.choose(e.Binds, own, slices.Sorted(maps.Keys(inRight))) {
 		p.found = joined(p.found, joined(inRight, inBody))
 		return
 	}

@@ -38,23 +38,6 @@ func (u use) and(more use) use {
 	return use{u.places + more.places, u.calls + more.calls, u.least, max(u.most, more.most)}
 }
 
-// occurrence tells the name that stands at an expression. An application of a name is told beside the name itself, which is an expression, too.
-func occurrence(e *api.Expr) (name string, u use, ok bool) {
-	switch {
-	case e.Kind == api.ExVar:
-		return e.Name, use{places: 1}, true
-	case isCall(e):
-		n := len(e.Args) - 1
-		return e.Args[0].Name, use{calls: 1, least: n, most: n}, true
-	}
-	return "", use{}, false
-}
-
-// isCall tells whether an expression is the application of a name.
-func isCall(e *api.Expr) bool {
-	return e.Kind == api.ExApp && len(e.Args) > 0 && e.Args[0].Kind == api.ExVar
-}
-
 // uses are names, and how they stand.
 type uses map[string]use
 
@@ -69,18 +52,6 @@ func joined(a, b uses) uses {
 		a.add(name, u)
 	}
 	return a
-}
-
-// mayLift tells whether a let is known and fits, of which this is how its names stand, and how many free variables it has.
-func mayLift(l []api.Bind, found uses, free int) bool {
-	for i := range l {
-		f, u := &l[i].E, found[l[i].Name]
-		known := f.Kind == api.ExLam && u.places == u.calls && (u.calls == 0 || u.least >= len(f.Params))
-		if !known || max(len(f.Params), u.most)+free > api.MaxParams {
-			return false
-		}
-	}
-	return true
 }
 
 // countFree tells how many free variables a let has in a program.

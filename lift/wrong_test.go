@@ -151,6 +151,8 @@ func TestLetsThatMayNotBe(t *testing.T) {
 		"an application of nothing": {Kind: api.ExLet, Binds: []api.Bind{f}, Args: list(api.Expr{Kind: api.ExApp})},
 		"an application to nothing": {Kind: api.ExLet, Binds: []api.Bind{f}, Args: list(api.Expr{Kind: api.ExApp, Args: list(variable("f"))})},
 		"no Params":                 {Kind: api.ExLet, Binds: []api.Bind{{Name: "f", E: api.Expr{Kind: api.ExLam}}}, Args: list(number(1))},
+		"a right side of nothing":   {Kind: api.ExLet, Binds: []api.Bind{{Name: "f", E: api.Expr{Kind: api.ExLet}}}, Args: list(number(1))},
+		"a function of nothing":     {Kind: api.ExLet, Binds: []api.Bind{f}, Args: list(api.Expr{Kind: api.ExApp, Args: list(api.Expr{Kind: api.ExLet}, number(1))})},
 		"a kind that is none":       {Kind: api.ExLet, Binds: []api.Bind{f}, Args: list(api.Expr{Kind: 10})},
 	} {
 		lift.Known(program("1"), e)

@@ -69,13 +69,21 @@ func (l *Locals) let(scope []local, deep int, body func(inner []local) string) s
 	}
 	var binds []string
 	for _, f := range own {
-		binds = append(binds, f.name+" = "+l.function(f, scope, own, deep))
+		binds = append(binds, f.name+" = "+l.right(f, scope, own, deep))
 	}
 	if l.Chance.Intn(8) == 0 {
 		own = append(own, local{l.name("x"), 0})
 		binds = append(binds, own[len(own)-1].name+" = "+l.number(scope, deep))
 	}
 	return group("let", strings.Join(binds, "; "), "in", body(append(slices.Clone(scope), own...)))
+}
+
+// right is a function as a let's right side, now and then with lets around it.
+func (l *Locals) right(f local, scope, own []local, deep int) string {
+	if l.Chance.Intn(8) > 0 {
+		return l.function(f, scope, own, deep)
+	}
+	return l.let(scope, 1, func(inner []local) string { return l.right(f, inner, own, deep-1) })
 }
 
 // function is one that calls those of its let for less than it is called for itself.
@@ -100,9 +108,17 @@ func (l *Locals) function(f local, scope, own []local, deep int) string {
 	return group("\\", strings.Join(params, " "), "->", body)
 }
 
+// head is a function where it is applied, now and then with lets around it.
+func (l *Locals) head(f local, scope []local) string {
+	if l.Chance.Intn(10) > 0 {
+		return f.name
+	}
+	return l.let(scope, 1, func(inner []local) string { return l.head(f, inner) })
+}
+
 // call is the application of a function, mostly to as many arguments as it has parameters.
 func (l *Locals) call(f local, first string, scope []local, deep int) string {
-	words := []string{f.name, first}
+	words := []string{l.head(f, scope), first}
 	n := f.params
 	switch l.Chance.Intn(40) {
 	case 0:
